@@ -3,12 +3,14 @@ package counting
 import (
 	"synthesis/api"
 	"synthesis/grammar"
+	"synthesis/sizes"
 )
 
 // counter counts terms by their sizes.
 type counter struct {
 	rules    []api.Rule
 	rulesOf  [][]int
+	sizes    sizes.Table
 	bySymbol []counts
 	byRule   []counts
 }
@@ -16,7 +18,7 @@ type counter struct {
 // counts has the numbers of terms of a symbol, or of terms with a rule at their root.
 type counts struct {
 	// sizes has the sizes of which there is a term.
-	sizes sizeSet
+	sizes sizes.Set
 	// known has the number for each size; 0 if there is no term, or if the number is not known yet.
 	known [api.MaxSize + 1]int64
 }
@@ -24,7 +26,7 @@ type counts struct {
 // at returns the number for a size, which compute computes when it is asked for. It is not computed before,
 // since a number that is too great ends the counting, and must not do so where it does not matter.
 func (k *counts) at(size int, compute func() int64) int64 {
-	if k.sizes.has(size) && k.known[size] == 0 {
+	if k.sizes.Has(size) && k.known[size] == 0 {
 		k.known[size] = compute()
 	}
 	return k.known[size]
@@ -32,34 +34,15 @@ func (k *counts) at(size int, compute func() int64) int64 {
 
 // newCounter returns a counter of the terms of a valid language.
 func newCounter(l api.Language) *counter {
-	c := &counter{rules: l.Rules, bySymbol: make([]counts, len(l.Symbols)), byRule: make([]counts, len(l.Rules))}
+	c := &counter{rules: l.Rules, sizes: sizes.Of(l)}
 	for symbol := range len(l.Symbols) {
 		c.rulesOf = append(c.rulesOf, grammar.Of(l, symbol))
+		c.bySymbol = append(c.bySymbol, counts{sizes: c.sizes.BySymbol[symbol]})
 	}
-	c.findSizes()
+	for rule := range len(l.Rules) {
+		c.byRule = append(c.byRule, counts{sizes: c.sizes.ByRule[rule]})
+	}
 	return c
-}
-
-// findSizes finds the sizes of which there are terms.
-func (c *counter) findSizes() {
-	root := sizeSet(0).with(1)
-	// A round finds the sizes of terms with one level more, and a term has no more levels than rules.
-	for range api.MaxSize {
-		for i, r := range c.rules {
-			sizes := c.sums(r.Args).plus(root)
-			c.byRule[i].sizes = sizes
-			c.bySymbol[r.Symbol].sizes |= sizes
-		}
-	}
-}
-
-// sums returns the sums of the sizes of terms, one for each symbol.
-func (c *counter) sums(symbols []int) sizeSet {
-	sums := sizeSet(0).with(0)
-	for _, symbol := range symbols {
-		sums = sums.plus(c.bySymbol[symbol].sizes)
-	}
-	return sums
 }
 
 // count returns the number of terms of a symbol from one size to another, or ErrMany.
@@ -100,10 +83,10 @@ func (c *counter) tuples(symbols []int, total int) int64 {
 	}
 	var n int64
 	first, rest := symbols[0], symbols[1:]
-	restSizes := c.sums(rest)
+	restSizes := c.sizes.Sums(rest)
 	for size := range total + 1 {
 		// Where one factor is 0, the other one must not end the counting.
-		if c.bySymbol[first].sizes.has(size) && restSizes.has(total-size) {
+		if c.bySymbol[first].sizes.Has(size) && restSizes.Has(total-size) {
 			n = sum(n, product(c.terms(first, size), c.tuples(rest, total-size)))
 		}
 	}

@@ -30,15 +30,15 @@ func (c *counter) block(rule int, w weights) int64 {
 func (c *counter) within(symbols []int, done int, w weights) weights {
 	var inner weights
 	first, rest := symbols[0], symbols[1:]
-	restSizes := c.sums(rest)
+	restSizes := c.sizes.Sums(rest)
 	for size := range inner {
 		// The weights of other sizes do not matter, and could be too great.
-		if !c.bySymbol[first].sizes.has(size) {
+		if !c.bySymbol[first].sizes.Has(size) {
 			continue
 		}
 		for total := done + size; total <= api.MaxSize; total++ {
 			restSize := total - done - size
-			if w[total] > 0 && restSizes.has(restSize) {
+			if w[total] > 0 && restSizes.Has(restSize) {
 				inner[size] = sum(inner[size], product(c.tuples(rest, restSize), w[total]))
 			}
 		}
