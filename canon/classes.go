@@ -1,11 +1,11 @@
 package canon
 
 import (
-	"cmp"
 	"slices"
 	"strconv"
 
 	"synthesis/api"
+	"synthesis/graph"
 )
 
 // A class is what the states of one class have in common: their symbol and size, whether they are roots, and a text of the contexts in which their terms occur, with the class of the term that this gives.
@@ -52,7 +52,7 @@ func merged(s api.Space) api.Space {
 
 // classesOf returns a number of the class of each state.
 func classesOf(s api.Space) []int {
-	places := placesOf(s.Nodes)
+	places := graph.Places(s.Nodes)
 	numbers := numbering[class]{}
 	classOf := make([]int, len(s.Nodes))
 	// The terms in which a state occurs are greater than its own ones, so that their classes are found before.
@@ -63,42 +63,12 @@ func classesOf(s api.Space) []int {
 	return classOf
 }
 
-// A place of a state is an argument of an option of another state. The context is a number of all else in this option: its rule, the place itself, and the other arguments.
-type place struct{ context, parent int }
-
-// placesOf returns the places of each state.
-func placesOf(nodes []api.Node) [][]place {
-	places := make([][]place, len(nodes))
-	contexts := numbering[string]{}
-	for parent, n := range nodes {
-		for _, o := range n.Options {
-			for i, arg := range o.Args {
-				places[arg] = append(places[arg], place{contexts.of(contextOf(o, i)), parent})
-			}
-		}
-	}
-	return places
-}
-
-// contextOf returns a text of an option without its argument number i.
-func contextOf(o api.Option, i int) string {
-	text := strconv.AppendInt(nil, int64(o.Rule), 10)
-	for k, arg := range o.Args {
-		text = append(text, ',')
-		if k != i {
-			text = strconv.AppendInt(text, int64(arg), 10)
-		}
-	}
-	return string(text)
-}
-
 // contextsOf returns a text of the contexts of the places of a state, with the classes of their parents. A state has at most one parent for each context.
-func contextsOf(places []place, classOf []int) string {
-	slices.SortFunc(places, func(a, b place) int { return cmp.Compare(a.context, b.context) })
+func contextsOf(places []graph.Place, classOf []int) string {
 	var text []byte
 	for _, p := range places {
-		text = strconv.AppendInt(text, int64(p.context), 10)
-		text = strconv.AppendInt(append(text, ':'), int64(classOf[p.parent]), 10)
+		text = strconv.AppendInt(text, int64(p.Context), 10)
+		text = strconv.AppendInt(append(text, ':'), int64(classOf[p.Parent]), 10)
 		text = append(text, ',')
 	}
 	return string(text)

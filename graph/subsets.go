@@ -9,22 +9,30 @@ import (
 
 // A State of a subset graph stands for the terms that belong to the same nodes.
 type State struct {
-	// Node has the symbol and the size of the terms, and options whose Args are states that precede this one.
+	// Node has the symbol and the size of the terms, and options in ascending order, whose Args are states that precede this one.
 	api.Node
 	// Members has the nodes, ascending. The nodes of each version space are counted on from those of the one before.
 	Members []int
 }
 
-// HasAny reports whether the terms belong to one of these nodes, which are in ascending order.
-func (s State) HasAny(nodes []int) bool {
+// HasAny reports whether the terms belong to one of these nodes of a version space, which are in ascending order, where the nodes of the version space are counted on from first.
+func (s State) HasAny(nodes []int, first int) bool {
 	return slices.ContainsFunc(s.Members, func(member int) bool {
-		_, isThere := slices.BinarySearch(nodes, member)
+		_, isThere := slices.BinarySearch(nodes, member-first)
 		return isThere
 	})
 }
 
 // Limits are the greatest numbers of states and of options that a graph may have.
 type Limits struct{ States, Options int }
+
+// Of returns the subset graph of version spaces, with its states in ascending order of size. It returns ErrForm if they are not well-formed or do not fit together, and then ErrLimit if the graph is larger than a version space may be.
+func Of(spaces ...api.Space) ([]State, api.Errno) {
+	if !AreWellFormed(spaces...) {
+		return nil, api.ErrForm
+	}
+	return Subsets(Limits{States: api.MaxNodes, Options: api.MaxOptions}, spaces...)
+}
 
 // Subsets returns the subset graph of version spaces that are well-formed and fit together, with its states in ascending order of size. It returns ErrLimit if the graph is not within the limits.
 func Subsets(limits Limits, spaces ...api.Space) ([]State, api.Errno) {

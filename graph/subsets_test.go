@@ -8,6 +8,7 @@ import (
 
 	"synthesis/api"
 	"synthesis/graph"
+	"synthesis/spacetest"
 )
 
 var limits = graph.Limits{States: api.MaxNodes, Options: api.MaxOptions}
@@ -66,13 +67,13 @@ func linesOf(states []graph.State) []string {
 
 // DOC.md, Terms: the subset graph of one version space, and of several of them.
 func TestSubsets(t *testing.T) {
-	var d dice
+	var d spacetest.Dice
 	greatest := 0
 	for n := range 1500 {
 		var spaces []api.Space
 		var nodes []api.Node
 		for range n % 4 {
-			s := randomSpace(&d, 1+d.roll(18-3*(n%4)))
+			s := rules.Random(&d, 1+d.Roll(18-3*(n%4)))
 			spaces = append(spaces, s)
 			first := len(nodes)
 			for _, m := range s.Nodes {
@@ -97,7 +98,8 @@ func TestSubsets(t *testing.T) {
 			isBefore := func(o api.Option) bool {
 				return !slices.ContainsFunc(o.Args, func(arg int) bool { return arg >= i })
 			}
-			if i > 0 && states[i-1].Size > s.Size || !slices.IsSorted(s.Members) || slices.ContainsFunc(s.Options, func(o api.Option) bool { return !isBefore(o) }) {
+			isInOrder := slices.IsSorted(s.Members) && slices.IsSortedFunc(s.Options, graph.CompareOptions)
+			if i > 0 && states[i-1].Size > s.Size || !isInOrder || slices.ContainsFunc(s.Options, func(o api.Option) bool { return !isBefore(o) }) {
 				t.Fatalf("%v: %v is not in order", spaces, states)
 			}
 		}
@@ -108,50 +110,25 @@ func TestSubsets(t *testing.T) {
 	}
 }
 
-// manyStates returns a version space with so many states that are rules: the node number i has the rules whose bit i is set.
-func manyStates(count int) api.Space {
-	var s api.Space
-	for bit := 1; bit <= count; bit *= 2 {
-		var has []int
-		for rule := range count + 1 {
-			if rule&bit != 0 {
-				has = append(has, rule)
-			}
-		}
-		s.Nodes = append(s.Nodes, leaf(0, has...))
-	}
-	return s
-}
-
-// manyOptions returns a version space whose subset graph has 32760 options, and one more for each further rule, in fewer states.
-func manyOptions(further int) api.Space {
-	s := api.Space{Nodes: []api.Node{leaf(0, numbersFrom(1, 180)...)}}
-	for rule := range 180 {
-		s.Nodes = append(s.Nodes, leaf(0, rule+1))
-	}
-	s.Nodes = append(s.Nodes, node(0, 2, option(200, 0)), node(0, 3, option(201, 0, 0)), leaf(0, numbersFrom(300, 299+further)...))
-	return s
-}
-
 // DOC.md, Terms: exactly as many states and options as the limits permit, and one more.
 func TestLimits(t *testing.T) {
 	for i, x := range []struct {
 		spaces          []api.Space
 		states, options int
 	}{
-		{[]api.Space{manyStates(4095)}, 4095, 4095},
-		{[]api.Space{manyStates(4095), {Nodes: []api.Node{leaf(0, 0)}}}, api.MaxNodes, 4096},
-		{[]api.Space{manyStates(4095), {Nodes: []api.Node{leaf(0, 0), leaf(0, 0, 4096)}}}, 0, 0},
-		{[]api.Space{manyStates(4095), {Nodes: []api.Node{leaf(0, 0), leaf(1, 5000)}}}, 0, 0},
-		{[]api.Space{manyStates(4095), {Nodes: []api.Node{leaf(0, 0), node(0, 2)}}}, api.MaxNodes, 4096},
-		{[]api.Space{manyStates(4095), {Nodes: []api.Node{leaf(0, 4095, 5000)}}}, api.MaxNodes, 4096},
-		{[]api.Space{manyStates(4095), {Nodes: []api.Node{leaf(0, 4094, 4095, 5000)}}}, api.MaxNodes, 4096},
-		{[]api.Space{manyStates(4095), {Nodes: []api.Node{leaf(0, 4094, 5000), leaf(0, 5001)}}}, 0, 0},
-		{[]api.Space{manyOptions(8)}, 183, api.MaxOptions},
-		{[]api.Space{manyOptions(9)}, 0, 0},
-		{[]api.Space{manyOptions(0), {Nodes: []api.Node{leaf(0, numbersFrom(1, 180)...)}}}, 182, 32760},
-		{[]api.Space{manyOptions(8), {Nodes: []api.Node{leaf(0, 1)}}}, 183, api.MaxOptions},
-		{[]api.Space{manyOptions(8), {Nodes: []api.Node{leaf(0, 299)}}}, 0, 0},
+		{[]api.Space{spacetest.ManyStates(4095)}, 4095, 4095},
+		{[]api.Space{spacetest.ManyStates(4095), {Nodes: []api.Node{spacetest.Leaf(0, 0)}}}, api.MaxNodes, 4096},
+		{[]api.Space{spacetest.ManyStates(4095), {Nodes: []api.Node{spacetest.Leaf(0, 0), spacetest.Leaf(0, 0, 4096)}}}, 0, 0},
+		{[]api.Space{spacetest.ManyStates(4095), {Nodes: []api.Node{spacetest.Leaf(0, 0), spacetest.Leaf(1, 5000)}}}, 0, 0},
+		{[]api.Space{spacetest.ManyStates(4095), {Nodes: []api.Node{spacetest.Leaf(0, 0), spacetest.Node(0, 2)}}}, api.MaxNodes, 4096},
+		{[]api.Space{spacetest.ManyStates(4095), {Nodes: []api.Node{spacetest.Leaf(0, 4095, 5000)}}}, api.MaxNodes, 4096},
+		{[]api.Space{spacetest.ManyStates(4095), {Nodes: []api.Node{spacetest.Leaf(0, 4094, 4095, 5000)}}}, api.MaxNodes, 4096},
+		{[]api.Space{spacetest.ManyStates(4095), {Nodes: []api.Node{spacetest.Leaf(0, 4094, 5000), spacetest.Leaf(0, 5001)}}}, 0, 0},
+		{[]api.Space{spacetest.ManyOptions(8)}, 183, api.MaxOptions},
+		{[]api.Space{spacetest.ManyOptions(9)}, 0, 0},
+		{[]api.Space{spacetest.ManyOptions(0), {Nodes: []api.Node{spacetest.Leaf(0, spacetest.Numbers(1, 180)...)}}}, 182, 32760},
+		{[]api.Space{spacetest.ManyOptions(8), {Nodes: []api.Node{spacetest.Leaf(0, 1)}}}, 183, api.MaxOptions},
+		{[]api.Space{spacetest.ManyOptions(8), {Nodes: []api.Node{spacetest.Leaf(0, 299)}}}, 0, 0},
 	} {
 		if !graph.AreWellFormed(x.spaces...) {
 			t.Fatalf("case %d is not well-formed", i)
@@ -170,11 +147,11 @@ func TestLimits(t *testing.T) {
 // Very many ways to the same terms, and very many terms of one option.
 func TestSubsetsOfManyTerms(t *testing.T) {
 	const width = 36
-	ways := api.Space{Nodes: slices.Repeat([]api.Node{leaf(0, 0)}, width)}
+	ways := api.Space{Nodes: slices.Repeat([]api.Node{spacetest.Leaf(0, 0)}, width)}
 	for size := 2; size <= api.MaxSize; size++ {
-		n := node(0, size)
+		n := spacetest.Node(0, size)
 		for i := range width {
-			n.Options = append(n.Options, option(1, (size-2)*width+i))
+			n.Options = append(n.Options, spacetest.Option(1, (size-2)*width+i))
 		}
 		ways.Nodes = append(ways.Nodes, slices.Repeat([]api.Node{n}, width)...)
 	}
@@ -183,7 +160,7 @@ func TestSubsetsOfManyTerms(t *testing.T) {
 		t.Error(len(states), e)
 	}
 	for i, s := range states {
-		if s.Size != i+1 || len(s.Options) != 1 || !slices.Equal(s.Members, numbersFrom(i*width, i*width+width-1)) {
+		if s.Size != i+1 || len(s.Options) != 1 || !slices.Equal(s.Members, spacetest.Numbers(i*width, i*width+width-1)) {
 			t.Error(i, s)
 		}
 	}
@@ -192,7 +169,7 @@ func TestSubsetsOfManyTerms(t *testing.T) {
 		leaves int
 		want   api.Errno
 	}{{1, api.OK}, {2, api.ErrLimit}} {
-		s := api.Space{Nodes: []api.Node{leaf(0, numbersFrom(1, x.leaves)...), leaf(0, 1), node(0, api.MaxSize, option(0, args...))}}
+		s := api.Space{Nodes: []api.Node{spacetest.Leaf(0, spacetest.Numbers(1, x.leaves)...), spacetest.Leaf(0, 1), spacetest.Node(0, api.MaxSize, spacetest.Option(0, args...))}}
 		if states, e := graph.Subsets(limits, s); e != x.want || len(states) != 2*(2-x.leaves) {
 			t.Errorf("%d: %d, %d", x.leaves, len(states), e)
 		}
@@ -201,13 +178,13 @@ func TestSubsetsOfManyTerms(t *testing.T) {
 
 // Very many choices for the first arguments, and none for the last one.
 func TestSubsetsWithoutChoice(t *testing.T) {
-	s := api.Space{Nodes: []api.Node{leaf(0, numbersFrom(1, 10)...), leaf(0)}}
+	s := api.Space{Nodes: []api.Node{spacetest.Leaf(0, spacetest.Numbers(1, 10)...), spacetest.Leaf(0)}}
 	for rule := range 10 {
-		s.Nodes = append(s.Nodes, leaf(0, rule+1))
+		s.Nodes = append(s.Nodes, spacetest.Leaf(0, rule+1))
 	}
 	args := make([]int, 23)
 	args[22] = 1
-	s.Nodes = append(s.Nodes, node(0, api.MaxSize, option(0, args...)))
+	s.Nodes = append(s.Nodes, spacetest.Node(0, api.MaxSize, spacetest.Option(0, args...)))
 	if states, e := graph.Subsets(limits, s); e != api.OK || !graph.AreWellFormed(s) || len(states) != 10 {
 		t.Error(len(states), e)
 	}
@@ -218,33 +195,71 @@ func TestHasAny(t *testing.T) {
 	s := graph.State{Members: []int{2, 5, 6}}
 	for i, x := range []struct {
 		nodes []int
+		first int
 		want  bool
 	}{
-		{nil, false},
-		{[]int{0, 1, 3, 4, 7, 8}, false},
-		{[]int{2}, true},
-		{[]int{6}, true},
-		{[]int{0, 1, 3, 5}, true},
-		{[]int{5, 6, 7}, true},
-		{[]int{-5, 3, 25}, false},
+		{nil, 0, false},
+		{[]int{0, 1, 3, 4, 7, 8}, 0, false},
+		{[]int{2}, 0, true},
+		{[]int{6}, 0, true},
+		{[]int{0, 1, 3, 5}, 0, true},
+		{[]int{5, 6, 7}, 0, true},
+		{[]int{-5, 3, 25}, 0, false},
+		{[]int{0, 1, 2, 5, 6}, 3, true},
+		{[]int{0, 1, 4, 5, 6}, 3, false},
+		{[]int{0}, 6, true},
+		{[]int{0, 1, 2}, 7, false},
 	} {
-		if got := s.HasAny(x.nodes); got != x.want {
+		if got := s.HasAny(x.nodes, x.first); got != x.want {
 			t.Errorf("case %d: %t", i, got)
 		}
 	}
-	if (graph.State{}).HasAny([]int{0}) {
+	if (graph.State{}).HasAny([]int{0}, 0) {
 		t.Error("a state without members")
 	}
 }
 
 // Limits of any numbers: a graph with 5 states and 10 options.
 func TestSmallLimits(t *testing.T) {
-	s := api.Space{Nodes: []api.Node{leaf(0, 0, 1), leaf(0, 1, 2), node(0, 2, option(5, 0), option(5, 1)), node(0, 3, option(6, 0, 1))}}
+	s := api.Space{Nodes: []api.Node{spacetest.Leaf(0, 0, 1), spacetest.Leaf(0, 1, 2), spacetest.Node(0, 2, spacetest.Option(5, 0), spacetest.Option(5, 1)), spacetest.Node(0, 3, spacetest.Option(6, 0, 1))}}
 	for states := range 9 {
 		for options := range 15 {
 			found, e := graph.Subsets(graph.Limits{States: states, Options: options}, s)
 			if isWithin := states >= 5 && options >= 10; (e == api.OK) != isWithin || (len(found) > 0) != isWithin || e != api.OK && e != api.ErrLimit {
 				t.Errorf("%d, %d: %d states, %d", states, options, len(found), e)
+			}
+		}
+	}
+}
+
+// Of: version spaces that are not well-formed or do not fit together, graphs that are too large, and all others.
+func TestOf(t *testing.T) {
+	var d spacetest.Dice
+	a, b := rules.Random(&d, 12), rules.Random(&d, 12)
+	malformed := api.Space{Nodes: []api.Node{spacetest.Leaf(0, 1, 0)}}
+	for i, x := range []struct {
+		spaces []api.Space
+		want   api.Errno
+	}{
+		{nil, api.OK},
+		{[]api.Space{a}, api.OK},
+		{[]api.Space{a, b}, api.OK},
+		{[]api.Space{a, malformed}, api.ErrForm},
+		{[]api.Space{spacetest.ManyOptions(9), malformed}, api.ErrForm},
+		{[]api.Space{{Nodes: []api.Node{spacetest.Leaf(0, 0)}}, {Nodes: []api.Node{spacetest.Leaf(1, 0)}}}, api.ErrForm},
+		{[]api.Space{spacetest.ManyOptions(8)}, api.OK},
+		{[]api.Space{spacetest.ManyOptions(9)}, api.ErrLimit},
+		{[]api.Space{spacetest.ManyStates(4095), {Nodes: []api.Node{spacetest.Leaf(0, 0)}}}, api.OK},
+		{[]api.Space{spacetest.ManyStates(4095), {Nodes: []api.Node{spacetest.Leaf(0, 0), spacetest.Leaf(0, 5000)}}}, api.ErrLimit},
+	} {
+		states, e := graph.Of(x.spaces...)
+		if e != x.want || e != api.OK && len(states) > 0 {
+			t.Errorf("case %d: %d states, %d", i, len(states), e)
+		}
+		if e == api.OK {
+			same, _ := graph.Subsets(limits, x.spaces...)
+			if !slices.Equal(linesOf(states), linesOf(same)) {
+				t.Errorf("case %d: %v", i, states)
 			}
 		}
 	}

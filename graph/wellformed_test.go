@@ -7,12 +7,13 @@ import (
 
 	"synthesis/api"
 	"synthesis/graph"
+	"synthesis/spacetest"
 )
 
 // small returns a version space with several symbols, sizes and options.
 func small() api.Space {
 	return api.Space{
-		Nodes: []api.Node{leaf(0, 0, 1), leaf(0), node(0, 2, option(5, 0)), leaf(7, 3), node(0, 3, option(5, 2), option(6, 0, 0), option(6, 0, 1), option(6, 1, 0))},
+		Nodes: []api.Node{spacetest.Leaf(0, 0, 1), spacetest.Leaf(0), spacetest.Node(0, 2, spacetest.Option(5, 0)), spacetest.Leaf(7, 3), spacetest.Node(0, 3, spacetest.Option(5, 2), spacetest.Option(6, 0, 0), spacetest.Option(6, 0, 1), spacetest.Option(6, 1, 0))},
 		Roots: []int{0, 2, 4},
 	}
 }
@@ -25,12 +26,12 @@ func TestWellFormed(t *testing.T) {
 		small(),
 		{Nodes: []api.Node{{Size: 1}}},
 		{Nodes: []api.Node{{Size: api.MaxSize}}, Roots: []int{0}},
-		{Nodes: []api.Node{leaf(math.MaxInt, 0, math.MaxInt)}},
-		{Nodes: []api.Node{leaf(0, 0), node(0, api.MaxSize, option(1, many...))}, Roots: []int{0, 1}},
-		{Nodes: []api.Node{leaf(0, 0), leaf(0, 0), node(1, 2, option(1, 0), option(1, 1))}},
-		{Nodes: []api.Node{leaf(0, 1), node(0, 2), leaf(0, 1, 2), node(1, 4, option(3, 0, 1), option(3, 1, 2))}},
-		{Nodes: slices.Repeat([]api.Node{leaf(0, numbersFrom(1, 8)...)}, api.MaxNodes), Roots: numbersFrom(0, api.MaxNodes-1)},
-		{Nodes: []api.Node{leaf(0, numbersFrom(1, api.MaxOptions)...)}},
+		{Nodes: []api.Node{spacetest.Leaf(math.MaxInt, 0, math.MaxInt)}},
+		{Nodes: []api.Node{spacetest.Leaf(0, 0), spacetest.Node(0, api.MaxSize, spacetest.Option(1, many...))}, Roots: []int{0, 1}},
+		{Nodes: []api.Node{spacetest.Leaf(0, 0), spacetest.Leaf(0, 0), spacetest.Node(1, 2, spacetest.Option(1, 0), spacetest.Option(1, 1))}},
+		{Nodes: []api.Node{spacetest.Leaf(0, 1), spacetest.Node(0, 2), spacetest.Leaf(0, 1, 2), spacetest.Node(1, 4, spacetest.Option(3, 0, 1), spacetest.Option(3, 1, 2))}},
+		{Nodes: slices.Repeat([]api.Node{spacetest.Leaf(0, spacetest.Numbers(1, 8)...)}, api.MaxNodes), Roots: spacetest.Numbers(0, api.MaxNodes-1)},
+		{Nodes: []api.Node{spacetest.Leaf(0, spacetest.Numbers(1, api.MaxOptions)...)}},
 	} {
 		if !graph.AreWellFormed(s) {
 			t.Errorf("version space %d is not well-formed", i)
@@ -51,7 +52,7 @@ func TestNotWellFormed(t *testing.T) {
 		func(s *api.Space) { s.Nodes = append(s.Nodes, api.Node{Size: api.MaxSize + 1}) },
 		func(s *api.Space) { s.Nodes = append(s.Nodes, api.Node{Size: math.MinInt}) },
 		func(s *api.Space) { s.Nodes[0].Options[1].Rule = 0 },
-		func(s *api.Space) { s.Nodes[0] = leaf(0, 1, 0) },
+		func(s *api.Space) { s.Nodes[0] = spacetest.Leaf(0, 1, 0) },
 		func(s *api.Space) { s.Nodes[4].Options[2].Args[1] = 0 },
 		func(s *api.Space) { s.Nodes[4].Options[3].Args = []int{0, 1} },
 		func(s *api.Space) { s.Nodes[4].Options[1].Args = []int{1, 1} },
@@ -64,14 +65,18 @@ func TestNotWellFormed(t *testing.T) {
 		func(s *api.Space) { s.Nodes[2].Options[0].Args[0] = math.MaxInt },
 		func(s *api.Space) { s.Nodes[2].Options[0].Args[0] = math.MinInt },
 		// A node that has the size, but comes later.
-		func(s *api.Space) { s.Nodes = append(s.Nodes[1:2], leaf(0, 0), node(0, 2, option(5, 3)), leaf(0, 0)) },
+		func(s *api.Space) {
+			s.Nodes = append(s.Nodes[1:2], spacetest.Leaf(0, 0), spacetest.Node(0, 2, spacetest.Option(5, 3)), spacetest.Leaf(0, 0))
+		},
 		// Sizes that do not add up.
 		func(s *api.Space) { s.Nodes[2].Size = 3 },
 		func(s *api.Space) { s.Nodes[2].Size = 1 },
 		func(s *api.Space) { s.Nodes[3].Size = 2 },
-		func(s *api.Space) { s.Nodes = append(s.Nodes, node(0, 2, option(9, 0, 0))) },
-		func(s *api.Space) { s.Nodes = append(s.Nodes, node(0, 4, option(9, 0, 0))) },
-		func(s *api.Space) { s.Nodes = append(s.Nodes, node(0, api.MaxSize, option(9, make([]int, 24)...))) },
+		func(s *api.Space) { s.Nodes = append(s.Nodes, spacetest.Node(0, 2, spacetest.Option(9, 0, 0))) },
+		func(s *api.Space) { s.Nodes = append(s.Nodes, spacetest.Node(0, 4, spacetest.Option(9, 0, 0))) },
+		func(s *api.Space) {
+			s.Nodes = append(s.Nodes, spacetest.Node(0, api.MaxSize, spacetest.Option(9, make([]int, 24)...)))
+		},
 		// Roots.
 		func(s *api.Space) { s.Roots[0] = -1 },
 		func(s *api.Space) { s.Roots[0] = math.MinInt },
@@ -81,23 +86,25 @@ func TestNotWellFormed(t *testing.T) {
 		func(s *api.Space) { s.Roots = []int{4, 2} },
 		func(s *api.Space) { s.Nodes = nil },
 		// Rules whose options differ in their symbols, or in the numbers of their arguments.
-		func(s *api.Space) { s.Nodes[3] = leaf(7, 1) },
-		func(s *api.Space) { s.Nodes[1] = leaf(0, 3) },
-		func(s *api.Space) { s.Nodes[1] = leaf(0, 5) },
+		func(s *api.Space) { s.Nodes[3] = spacetest.Leaf(7, 1) },
+		func(s *api.Space) { s.Nodes[1] = spacetest.Leaf(0, 3) },
+		func(s *api.Space) { s.Nodes[1] = spacetest.Leaf(0, 5) },
 		func(s *api.Space) { s.Nodes[2].Options[0].Rule = 6 },
 		func(s *api.Space) { s.Nodes[4].Options[0].Rule = 0 },
 		func(s *api.Space) { s.Nodes[4].Options[2].Args[1] = 3 },
 		func(s *api.Space) { s.Nodes[4].Options[3].Args[0] = 3 },
-		func(s *api.Space) { s.Nodes[2].Options = append(s.Nodes[2].Options, option(5, 3)) },
+		func(s *api.Space) { s.Nodes[2].Options = append(s.Nodes[2].Options, spacetest.Option(5, 3)) },
 		func(s *api.Space) { s.Nodes[2].Symbol = 1 },
 		// Too many nodes, and too many options.
 		func(s *api.Space) { s.Nodes = append(s.Nodes, make([]api.Node, api.MaxNodes-4)...) },
-		func(s *api.Space) { s.Nodes = slices.Repeat([]api.Node{leaf(0)}, api.MaxNodes+1) },
+		func(s *api.Space) { s.Nodes = slices.Repeat([]api.Node{spacetest.Leaf(0)}, api.MaxNodes+1) },
 		func(s *api.Space) {
-			s.Nodes = slices.Repeat([]api.Node{leaf(0, numbersFrom(1, 16)...)}, 2048)
-			s.Nodes = append(s.Nodes, leaf(0, 1))
+			s.Nodes = slices.Repeat([]api.Node{spacetest.Leaf(0, spacetest.Numbers(1, 16)...)}, 2048)
+			s.Nodes = append(s.Nodes, spacetest.Leaf(0, 1))
 		},
-		func(s *api.Space) { s.Nodes = append(s.Nodes[:0], leaf(0, numbersFrom(1, api.MaxOptions+1)...)) },
+		func(s *api.Space) {
+			s.Nodes = append(s.Nodes[:0], spacetest.Leaf(0, spacetest.Numbers(1, api.MaxOptions+1)...))
+		},
 	} {
 		s := small()
 		if change(&s); graph.AreWellFormed(s) {
@@ -115,19 +122,19 @@ func TestFit(t *testing.T) {
 		nodes []api.Node
 		want  bool
 	}{
-		{[]api.Node{leaf(0, 0, 2, 9)}, true},
-		{[]api.Node{leaf(1, 2, 4)}, true},
-		{[]api.Node{leaf(1, 0)}, false},
-		{[]api.Node{leaf(0, 3)}, false},
-		{[]api.Node{leaf(0, 5)}, false},
-		{[]api.Node{leaf(0), node(0, 2, option(1, 0))}, false},
-		{[]api.Node{leaf(0), node(0, 2, option(5, 0))}, true},
-		{[]api.Node{leaf(7), node(0, 2, option(5, 0))}, false},
-		{[]api.Node{leaf(0), node(1, 2, option(5, 0))}, false},
-		{[]api.Node{leaf(0), node(0, 3, option(6, 0, 0))}, true},
-		{[]api.Node{leaf(0), leaf(7), node(0, 3, option(6, 0, 1))}, false},
-		{[]api.Node{leaf(0), leaf(7), node(0, 3, option(6, 1, 0))}, false},
-		{[]api.Node{leaf(0), node(0, 4, option(6, 0, 0, 0))}, false},
+		{[]api.Node{spacetest.Leaf(0, 0, 2, 9)}, true},
+		{[]api.Node{spacetest.Leaf(1, 2, 4)}, true},
+		{[]api.Node{spacetest.Leaf(1, 0)}, false},
+		{[]api.Node{spacetest.Leaf(0, 3)}, false},
+		{[]api.Node{spacetest.Leaf(0, 5)}, false},
+		{[]api.Node{spacetest.Leaf(0), spacetest.Node(0, 2, spacetest.Option(1, 0))}, false},
+		{[]api.Node{spacetest.Leaf(0), spacetest.Node(0, 2, spacetest.Option(5, 0))}, true},
+		{[]api.Node{spacetest.Leaf(7), spacetest.Node(0, 2, spacetest.Option(5, 0))}, false},
+		{[]api.Node{spacetest.Leaf(0), spacetest.Node(1, 2, spacetest.Option(5, 0))}, false},
+		{[]api.Node{spacetest.Leaf(0), spacetest.Node(0, 3, spacetest.Option(6, 0, 0))}, true},
+		{[]api.Node{spacetest.Leaf(0), spacetest.Leaf(7), spacetest.Node(0, 3, spacetest.Option(6, 0, 1))}, false},
+		{[]api.Node{spacetest.Leaf(0), spacetest.Leaf(7), spacetest.Node(0, 3, spacetest.Option(6, 1, 0))}, false},
+		{[]api.Node{spacetest.Leaf(0), spacetest.Node(0, 4, spacetest.Option(6, 0, 0, 0))}, false},
 	} {
 		other := api.Space{Nodes: x.nodes}
 		if !graph.AreWellFormed(other) {
@@ -141,7 +148,7 @@ func TestFit(t *testing.T) {
 
 // Options are ordered by their rules, and then by their arguments.
 func TestCompareOptions(t *testing.T) {
-	list := []api.Option{option(-1, 9), option(0), option(0, -1), option(0, 0), option(0, 0, 0), option(0, 0, 1), option(0, 1), option(1), option(1, 0)}
+	list := []api.Option{spacetest.Option(-1, 9), spacetest.Option(0), spacetest.Option(0, -1), spacetest.Option(0, 0), spacetest.Option(0, 0, 0), spacetest.Option(0, 0, 1), spacetest.Option(0, 1), spacetest.Option(1), spacetest.Option(1, 0)}
 	for i, a := range list {
 		for k, b := range list {
 			want := 0

@@ -9,6 +9,7 @@ import (
 	"synthesis/counting"
 	"synthesis/grammar"
 	"synthesis/space"
+	"synthesis/spacetest"
 	"synthesis/value"
 )
 
@@ -92,13 +93,13 @@ func TestAllErrors(t *testing.T) {
 		{many, 0, api.MaxSize + 1, api.ErrRange},
 		{many, 0, api.MaxSize, api.ErrLimit},
 	} {
-		if s, e := space.All(x.l, x.symbol, x.most); e != x.want || e != api.OK && !isZero(s) {
+		if s, e := space.All(x.l, x.symbol, x.most); e != x.want || e != api.OK && !spacetest.IsZero(s) {
 			t.Errorf("case %d: %v, %d, not %d", i, s, e, x.want)
 		}
 	}
 	for _, l := range invalid() {
 		for _, n := range []int{-1, 0, 1, 99} {
-			if s, e := space.All(l, n, n); e == api.OK || e != grammar.Check(l) || !isZero(s) {
+			if s, e := space.All(l, n, n); e == api.OK || e != grammar.Check(l) || !spacetest.IsZero(s) {
 				t.Errorf("%v: %v, %d", l, s, e)
 			}
 		}
@@ -144,7 +145,7 @@ func TestAllLimit(t *testing.T) {
 		}
 		for symbol := range l.Symbols {
 			s, e := space.All(l, symbol, api.MaxSize)
-			if want := []api.Errno{api.OK, api.ErrLimit}[further]; e != want || (e == api.OK) == isZero(s) {
+			if want := []api.Errno{api.OK, api.ErrLimit}[further]; e != want || (e == api.OK) == spacetest.IsZero(s) {
 				t.Errorf("symbol %d: %d, not %d", symbol, e, want)
 			}
 			if symbol == 0 && further == 0 && (len(s.Nodes) != 1 || len(s.Nodes[0].Options) != api.MaxOptions-before+1) {

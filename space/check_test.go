@@ -7,21 +7,22 @@ import (
 	"synthesis/api"
 	"synthesis/grammar"
 	"synthesis/space"
+	"synthesis/spacetest"
 )
 
 // P25.1: version spaces that belong to a language.
 func TestCheck(t *testing.T) {
-	var d dice
+	var d spacetest.Dice
 	l := choices()
 	for range 300 {
-		if s := randomSpace(&d, l, d.roll(20)); space.Check(l, s) != api.OK {
+		if s := spacetest.RulesOf(l).Random(&d, d.Roll(20)); space.Check(l, s) != api.OK {
 			t.Fatalf("Check of %v is %d", s, space.Check(l, s))
 		}
 	}
 	for i, s := range []api.Space{
 		{},
 		{Nodes: []api.Node{{Size: 24}, {Symbol: 2, Size: 7}}, Roots: []int{0, 1}},
-		{Nodes: []api.Node{leaf(0, 0, 3, 7), leaf(1, 2, 9), node(1, 3, option(5, 0, 0)), node(0, 6, option(1, 2, 0, 0))}, Roots: []int{2}},
+		{Nodes: []api.Node{spacetest.Leaf(0, 0, 3, 7), spacetest.Leaf(1, 2, 9), spacetest.Node(1, 3, spacetest.Option(5, 0, 0)), spacetest.Node(0, 6, spacetest.Option(1, 2, 0, 0))}, Roots: []int{2}},
 	} {
 		if e := space.Check(l, s); e != api.OK {
 			t.Errorf("case %d: %d", i, e)
@@ -36,33 +37,33 @@ func TestCheckErrors(t *testing.T) {
 		nodes []api.Node
 		want  api.Errno
 	}{
-		{[]api.Node{leaf(3)}, api.ErrRange},
-		{[]api.Node{leaf(math.MaxInt)}, api.ErrRange},
-		{[]api.Node{leaf(0, 12)}, api.ErrRange},
-		{[]api.Node{leaf(0, math.MaxInt)}, api.ErrRange},
-		{[]api.Node{leaf(0, 2)}, api.ErrForm},
-		{[]api.Node{leaf(1, 0)}, api.ErrForm},
-		{[]api.Node{leaf(2, 0)}, api.ErrForm},
+		{[]api.Node{spacetest.Leaf(3)}, api.ErrRange},
+		{[]api.Node{spacetest.Leaf(math.MaxInt)}, api.ErrRange},
+		{[]api.Node{spacetest.Leaf(0, 12)}, api.ErrRange},
+		{[]api.Node{spacetest.Leaf(0, math.MaxInt)}, api.ErrRange},
+		{[]api.Node{spacetest.Leaf(0, 2)}, api.ErrForm},
+		{[]api.Node{spacetest.Leaf(1, 0)}, api.ErrForm},
+		{[]api.Node{spacetest.Leaf(2, 0)}, api.ErrForm},
 		// Too few and too many arguments.
-		{[]api.Node{leaf(0, 1)}, api.ErrForm},
-		{[]api.Node{leaf(0, 8)}, api.ErrForm},
-		{[]api.Node{leaf(0, 0), node(0, 2, option(4, 0))}, api.ErrForm},
-		{[]api.Node{leaf(0, 0), node(0, 3, option(8, 0, 0))}, api.ErrForm},
-		{[]api.Node{leaf(0, 0), node(0, 2, option(3, 0))}, api.ErrForm},
-		{[]api.Node{leaf(0, 0), node(0, 2, option(0, 0))}, api.ErrForm},
+		{[]api.Node{spacetest.Leaf(0, 1)}, api.ErrForm},
+		{[]api.Node{spacetest.Leaf(0, 8)}, api.ErrForm},
+		{[]api.Node{spacetest.Leaf(0, 0), spacetest.Node(0, 2, spacetest.Option(4, 0))}, api.ErrForm},
+		{[]api.Node{spacetest.Leaf(0, 0), spacetest.Node(0, 3, spacetest.Option(8, 0, 0))}, api.ErrForm},
+		{[]api.Node{spacetest.Leaf(0, 0), spacetest.Node(0, 2, spacetest.Option(3, 0))}, api.ErrForm},
+		{[]api.Node{spacetest.Leaf(0, 0), spacetest.Node(0, 2, spacetest.Option(0, 0))}, api.ErrForm},
 		// Arguments of wrong symbols.
-		{[]api.Node{leaf(0, 0), node(1, 2, option(6, 0))}, api.ErrForm},
-		{[]api.Node{leaf(0, 0), leaf(1, 2), node(0, 3, option(4, 0, 1))}, api.ErrForm},
-		{[]api.Node{leaf(0, 0), leaf(1, 2), node(0, 3, option(4, 1, 0))}, api.ErrForm},
-		{[]api.Node{leaf(0, 0), leaf(1, 2), node(0, 4, option(1, 0, 1, 0))}, api.ErrForm},
-		{[]api.Node{leaf(0, 0), leaf(2), node(0, 2, option(8, 1))}, api.ErrForm},
+		{[]api.Node{spacetest.Leaf(0, 0), spacetest.Node(1, 2, spacetest.Option(6, 0))}, api.ErrForm},
+		{[]api.Node{spacetest.Leaf(0, 0), spacetest.Leaf(1, 2), spacetest.Node(0, 3, spacetest.Option(4, 0, 1))}, api.ErrForm},
+		{[]api.Node{spacetest.Leaf(0, 0), spacetest.Leaf(1, 2), spacetest.Node(0, 3, spacetest.Option(4, 1, 0))}, api.ErrForm},
+		{[]api.Node{spacetest.Leaf(0, 0), spacetest.Leaf(1, 2), spacetest.Node(0, 4, spacetest.Option(1, 0, 1, 0))}, api.ErrForm},
+		{[]api.Node{spacetest.Leaf(0, 0), spacetest.Leaf(2), spacetest.Node(0, 2, spacetest.Option(8, 1))}, api.ErrForm},
 		// The first node with an error counts, and in it the symbol before the options, and then the first option.
-		{[]api.Node{leaf(0, 2), leaf(3)}, api.ErrForm},
-		{[]api.Node{leaf(3), leaf(0, 2)}, api.ErrRange},
-		{[]api.Node{leaf(3, 2)}, api.ErrRange},
-		{[]api.Node{leaf(0, 2, 12)}, api.ErrForm},
-		{[]api.Node{leaf(0, 0, 12), leaf(1, 1)}, api.ErrRange},
-		{[]api.Node{leaf(0, 0), leaf(1, 1), leaf(0, 12)}, api.ErrForm},
+		{[]api.Node{spacetest.Leaf(0, 2), spacetest.Leaf(3)}, api.ErrForm},
+		{[]api.Node{spacetest.Leaf(3), spacetest.Leaf(0, 2)}, api.ErrRange},
+		{[]api.Node{spacetest.Leaf(3, 2)}, api.ErrRange},
+		{[]api.Node{spacetest.Leaf(0, 2, 12)}, api.ErrForm},
+		{[]api.Node{spacetest.Leaf(0, 0, 12), spacetest.Leaf(1, 1)}, api.ErrRange},
+		{[]api.Node{spacetest.Leaf(0, 0), spacetest.Leaf(1, 1), spacetest.Leaf(0, 12)}, api.ErrForm},
 	} {
 		if e := space.Check(l, api.Space{Nodes: x.nodes}); e != x.want {
 			t.Errorf("case %d: %d, not %d", i, e, x.want)
@@ -70,11 +71,11 @@ func TestCheckErrors(t *testing.T) {
 	}
 	// What is not well-formed counts before the nodes, and the language before that.
 	faulty := []api.Space{
-		{Nodes: []api.Node{leaf(3), {Size: 25}}},
-		{Nodes: []api.Node{leaf(0, 12), leaf(0, 2)}, Roots: []int{2}},
-		{Nodes: []api.Node{leaf(3, 12), leaf(0, 12)}},
+		{Nodes: []api.Node{spacetest.Leaf(3), {Size: 25}}},
+		{Nodes: []api.Node{spacetest.Leaf(0, 12), spacetest.Leaf(0, 2)}, Roots: []int{2}},
+		{Nodes: []api.Node{spacetest.Leaf(3, 12), spacetest.Leaf(0, 12)}},
 	}
-	for i, s := range append(malformed(), faulty...) {
+	for i, s := range append(spacetest.Malformed(), faulty...) {
 		if e := space.Check(l, s); e != api.ErrForm {
 			t.Errorf("version space %d: %d", i, e)
 		}
@@ -90,7 +91,7 @@ func TestCheckErrors(t *testing.T) {
 func TestCheckOfChanges(t *testing.T) {
 	l := choices()
 	s := api.Space{
-		Nodes: []api.Node{leaf(0, 0, 3), leaf(1, 2), node(0, 2, option(8, 0)), node(0, 3, option(4, 0, 0), option(8, 2)), node(0, 5, option(1, 1, 0, 2))},
+		Nodes: []api.Node{spacetest.Leaf(0, 0, 3), spacetest.Leaf(1, 2), spacetest.Node(0, 2, spacetest.Option(8, 0)), spacetest.Node(0, 3, spacetest.Option(4, 0, 0), spacetest.Option(8, 2)), spacetest.Node(0, 5, spacetest.Option(1, 1, 0, 2))},
 		Roots: []int{2, 4},
 	}
 	// fits follows the definition of a version space that belongs to a language.

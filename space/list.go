@@ -20,7 +20,7 @@ func listed(s api.Space) ([]api.Term, api.Errno) {
 		for _, o := range x.Options {
 			ofState[i] = appendTerms(ofState[i], ofState, o.Args, api.Term{Rule: o.Rule})
 		}
-		if x.HasAny(s.Roots) {
+		if x.HasAny(s.Roots, 0) {
 			programs = append(programs, ofState[i]...)
 		}
 	}
@@ -42,7 +42,7 @@ func areFew(states []graph.State, roots []int) bool {
 				return false
 			}
 		}
-		if x.HasAny(roots) {
+		if x.HasAny(roots, 0) {
 			programs += counts[i]
 		}
 	}

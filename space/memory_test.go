@@ -4,47 +4,10 @@ import (
 	"slices"
 	"testing"
 
-	"synthesis/api"
 	"synthesis/grammar"
 	"synthesis/space"
+	"synthesis/spacetest"
 )
-
-// spaceCells returns the addresses of all elements of slices behind a version space, up to their capacities.
-func spaceCells(s api.Space) []any {
-	found := append(indexCells(s.Roots), nodeCells(s.Nodes)...)
-	return found
-}
-
-func indexCells(list []int) []any {
-	var found []any
-	all := list[:cap(list)]
-	for i := range all {
-		found = append(found, &all[i])
-	}
-	return found
-}
-
-func nodeCells(list []api.Node) []any {
-	var found []any
-	all := list[:cap(list)]
-	for i := range all {
-		found = append(found, &all[i])
-		options := all[i].Options[:cap(all[i].Options)]
-		for k := range options {
-			found = append(append(found, &options[k]), indexCells(options[k].Args)...)
-		}
-	}
-	return found
-}
-
-func termCells(list []api.Term) []any {
-	var found []any
-	all := list[:cap(list)]
-	for i := range all {
-		found = append(append(found, &all[i]), termCells(all[i].Args)...)
-	}
-	return found
-}
 
 // DOC.md, rule 5: results share no memory with arguments or with each other, and arguments stay as they are.
 func TestMemory(t *testing.T) {
@@ -61,28 +24,28 @@ func TestMemory(t *testing.T) {
 	l, same := choices(), choices()
 	list := upTo(l, 0, 3)
 	before := slices.Clone(list)
-	for _, cell := range termCells(list) {
+	for _, cell := range spacetest.TermCells(list) {
 		isUsed[cell] = true
 	}
-	var d dice
+	var d spacetest.Dice
 	for range 20 {
-		s := randomSpace(&d, l, 14)
-		old := copied(s)
-		check("no function", spaceCells(s))
+		s := spacetest.RulesOf(l).Random(&d, 14)
+		old := spacetest.Copied(s)
+		check("no function", spacetest.Cells(s))
 		for range 2 {
 			x, _ := space.Trim(s)
-			check("Trim", spaceCells(x))
+			check("Trim", spacetest.Cells(x))
 			y, _ := space.Terms(s)
-			check("Terms", termCells(y))
+			check("Terms", spacetest.TermCells(y))
 			z, _ := space.Of(l, list)
-			check("Of", spaceCells(z))
+			check("Of", spacetest.Cells(z))
 			w, _ := space.All(l, 0, 5)
-			check("All", spaceCells(w))
+			check("All", spacetest.Cells(w))
 			space.Check(l, s)
 			space.Contains(s, list[3])
 			space.Empty(s)
 		}
-		if !equalSpaces(s, old) {
+		if !spacetest.Equal(s, old) {
 			t.Fatal("an argument is changed")
 		}
 	}

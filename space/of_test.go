@@ -8,14 +8,15 @@ import (
 	"synthesis/api"
 	"synthesis/grammar"
 	"synthesis/space"
+	"synthesis/spacetest"
 	"synthesis/term"
 )
 
 // checkSpace checks that a version space belongs to the language, is trim and unambiguous, and has exactly these programs, which are in order.
 func checkSpace(t *testing.T, l api.Language, s api.Space, want []api.Term) {
 	t.Helper()
-	if e := space.Check(l, s); e != api.OK || !isTrim(s) || !isUnambiguous(s) {
-		t.Fatalf("Check of %v is %d, trim: %t, unambiguous: %t", s, e, isTrim(s), isUnambiguous(s))
+	if e := space.Check(l, s); e != api.OK || !isTrim(s) || !spacetest.IsUnambiguous(s) {
+		t.Fatalf("Check of %v is %d, trim: %t, unambiguous: %t", s, e, isTrim(s), spacetest.IsUnambiguous(s))
 	}
 	if !equalTerms(programs(s), want) {
 		t.Fatalf("%v has %v, not %v", s, programs(s), want)
@@ -23,14 +24,14 @@ func checkSpace(t *testing.T, l api.Language, s api.Space, want []api.Term) {
 	if list, e := space.Terms(s); e != api.OK || !equalTerms(list, want) {
 		t.Fatalf("Terms of %v is %v, %d, not %v", s, list, e, want)
 	}
-	if x, e := space.Trim(s); e != api.OK || !equalSpaces(x, s) {
+	if x, e := space.Trim(s); e != api.OK || !spacetest.Equal(x, s) {
 		t.Fatalf("Trim of %v is %v, %d", s, x, e)
 	}
 }
 
 // P25.4, P25.7: lists of terms of all symbols, in any order, also with the same term twice.
 func TestOf(t *testing.T) {
-	var d dice
+	var d spacetest.Dice
 	l := choices()
 	var all []api.Term
 	for symbol := range l.Symbols {
@@ -39,7 +40,7 @@ func TestOf(t *testing.T) {
 	for n := range 150 {
 		var list []api.Term
 		for range n % 30 {
-			list = append(list, all[d.roll(len(all))])
+			list = append(list, all[d.Roll(len(all))])
 		}
 		if n%3 == 0 {
 			list = append(list, list...)
@@ -51,9 +52,9 @@ func TestOf(t *testing.T) {
 		want := sorted(list)
 		checkSpace(t, l, s, want)
 		for _, x := range all {
-			isThere := slices.ContainsFunc(want, func(y api.Term) bool { return write(x) == write(y) })
+			isThere := slices.ContainsFunc(want, func(y api.Term) bool { return spacetest.Write(x) == spacetest.Write(y) })
 			if space.Contains(s, x) != isThere {
-				t.Fatalf("%v contains %s: %t", s, write(x), !isThere)
+				t.Fatalf("%v contains %s: %t", s, spacetest.Write(x), !isThere)
 			}
 		}
 	}
@@ -129,13 +130,13 @@ func TestOfErrors(t *testing.T) {
 		{[]api.Term{derivation(8), derivation(-1)}, api.ErrForm},
 	} {
 		s, e := space.Of(l, x.list)
-		if e != x.want || !isLong || e != api.OK && !isZero(s) {
+		if e != x.want || !isLong || e != api.OK && !spacetest.IsZero(s) {
 			t.Errorf("case %d: %v, %d, not %d", i, s, e, x.want)
 		}
 	}
 	for _, l := range invalid() {
 		for _, list := range [][]api.Term{nil, {one}, {derivation(-1)}, slices.Repeat([]api.Term{one}, api.MaxTerms+1)} {
-			if s, e := space.Of(l, list); e == api.OK || e != grammar.Check(l) || !isZero(s) {
+			if s, e := space.Of(l, list); e == api.OK || e != grammar.Check(l) || !spacetest.IsZero(s) {
 				t.Errorf("%v: %v, %d", l, s, e)
 			}
 		}
@@ -158,15 +159,15 @@ func TestOfLimit(t *testing.T) {
 	if s, e := space.Of(l, first[1:api.MaxNodes]); e != api.OK || len(s.Roots) != api.MaxNodes-1 {
 		t.Error(len(s.Roots), e)
 	}
-	if s, e := space.Of(l, first[1:]); e != api.ErrLimit || !isZero(s) {
+	if s, e := space.Of(l, first[1:]); e != api.ErrLimit || !spacetest.IsZero(s) {
 		t.Error(len(s.Roots), e)
 	}
-	if s, e := space.Of(l, first); e != api.ErrMany || !isZero(s) {
+	if s, e := space.Of(l, first); e != api.ErrMany || !spacetest.IsZero(s) {
 		t.Error(len(s.Roots), e)
 	}
 	// An error of a term comes before the limit.
 	first[0] = derivation(4)
-	if s, e := space.Of(l, append(first[2:], first[0])); e != api.ErrForm || !isZero(s) {
+	if s, e := space.Of(l, append(first[2:], first[0])); e != api.ErrForm || !spacetest.IsZero(s) {
 		t.Error(len(s.Roots), e)
 	}
 }

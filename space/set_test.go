@@ -7,11 +7,12 @@ import (
 
 	"synthesis/api"
 	"synthesis/space"
+	"synthesis/spacetest"
 )
 
 // P25.2, P25.3, P25.6, P25.7: small version spaces, by the definitions.
 func TestSets(t *testing.T) {
-	var d dice
+	var d spacetest.Dice
 	l := choices()
 	var others []api.Term
 	for symbol := range l.Symbols {
@@ -19,9 +20,9 @@ func TestSets(t *testing.T) {
 	}
 	empty, full := 0, 0
 	for range 1200 {
-		s := randomSpace(&d, l, d.roll(14))
+		s := spacetest.RulesOf(l).Random(&d, d.Roll(14))
 		want := programs(s)
-		before := copied(s)
+		before := spacetest.Copied(s)
 		list, e := space.Terms(s)
 		if e != api.OK || !equalTerms(list, want) {
 			t.Fatalf("Terms of %v is %v, %d, not %v", s, list, e, want)
@@ -29,14 +30,14 @@ func TestSets(t *testing.T) {
 		if got := space.Empty(s); got != (len(want) == 0) {
 			t.Fatalf("Empty of %v is %t", s, got)
 		}
-		for _, x := range slices.Concat(want, others, slices.Concat(derived(s)...)) {
-			isThere := slices.ContainsFunc(want, func(y api.Term) bool { return write(x) == write(y) })
+		for _, x := range slices.Concat(want, others, slices.Concat(spacetest.Derived(s)...)) {
+			isThere := slices.ContainsFunc(want, func(y api.Term) bool { return spacetest.Write(x) == spacetest.Write(y) })
 			if got := space.Contains(s, x); got != isThere {
-				t.Fatalf("Contains of %v and %s is %t", s, write(x), got)
+				t.Fatalf("Contains of %v and %s is %t", s, spacetest.Write(x), got)
 			}
 		}
 		checkTrim(t, s)
-		if !equalSpaces(s, before) {
+		if !spacetest.Equal(s, before) {
 			t.Fatal("an argument is changed")
 		}
 		if len(want) == 0 {
@@ -55,18 +56,18 @@ func TestSets(t *testing.T) {
 func checkTrim(t *testing.T, s api.Space) {
 	t.Helper()
 	x, e := space.Trim(s)
-	if want := trimmed(s); e != api.OK || !equalSpaces(x, want) {
+	if want := trimmed(s); e != api.OK || !spacetest.Equal(x, want) {
 		t.Fatalf("Trim of %v is %v, %d, not %v", s, x, e, want)
 	}
 	again, e := space.Trim(x)
-	if e != api.OK || !equalSpaces(again, x) || !isTrim(x) || !equalTerms(programs(x), programs(s)) || space.Check(choices(), x) != api.OK {
+	if e != api.OK || !spacetest.Equal(again, x) || !isTrim(x) || !equalTerms(programs(x), programs(s)) || space.Check(choices(), x) != api.OK {
 		t.Fatalf("Trim of %v is %v, and of that %v, %d", s, x, again, e)
 	}
 }
 
 // trimmed returns the needed part of a version space. It follows the definition, from derivations and in rounds.
 func trimmed(s api.Space) api.Space {
-	all := derived(s)
+	all := spacetest.Derived(s)
 	hasTerms := func(i int) bool { return len(all[i]) > 0 }
 	isNeeded := map[int]bool{}
 	for _, root := range s.Roots {
@@ -95,14 +96,14 @@ func trimmed(s api.Space) api.Space {
 		if !isNeeded[i] {
 			continue
 		}
-		m := node(n.Symbol, n.Size)
+		m := spacetest.Node(n.Symbol, n.Size)
 		for _, o := range n.Options {
 			if isOptionNeeded(i, o) {
 				var args []int
 				for _, arg := range o.Args {
 					args = append(args, number[arg])
 				}
-				m.Options = append(m.Options, option(o.Rule, args...))
+				m.Options = append(m.Options, spacetest.Option(o.Rule, args...))
 			}
 		}
 		number[i] = len(x.Nodes)
@@ -118,10 +119,10 @@ func trimmed(s api.Space) api.Space {
 
 // P25.2, P25.3, P25.6: the examples, and version spaces that belong to no language.
 func TestSetExamples(t *testing.T) {
-	two := api.Space{Nodes: []api.Node{leaf(0, 0), node(0, 3, option(1, 0, 0))}, Roots: []int{0, 1}}
+	two := api.Space{Nodes: []api.Node{spacetest.Leaf(0, 0), spacetest.Node(0, 3, spacetest.Option(1, 0, 0))}, Roots: []int{0, 1}}
 	one := derivation(0)
 	double := derivation(1, one, one)
-	wide := api.Space{Nodes: []api.Node{leaf(math.MaxInt, math.MaxInt), node(5, 24, option(7, make([]int, 23)...))}, Roots: []int{1}}
+	wide := api.Space{Nodes: []api.Node{spacetest.Leaf(math.MaxInt, math.MaxInt), spacetest.Node(5, 24, spacetest.Option(7, make([]int, 23)...))}, Roots: []int{1}}
 	wideTerm := derivation(7, slices.Repeat([]api.Term{derivation(math.MaxInt)}, 23)...)
 	for i, x := range []struct {
 		s    api.Space
@@ -133,10 +134,10 @@ func TestSetExamples(t *testing.T) {
 		{api.Space{}, nil},
 		{wide, []api.Term{wideTerm}},
 		// The same program belongs to two roots, and to a root by two options.
-		{api.Space{Nodes: []api.Node{leaf(0, 0), leaf(0, 0)}, Roots: []int{0, 1}}, []api.Term{one}},
-		{api.Space{Nodes: []api.Node{leaf(0, 0), leaf(0, 0), node(0, 3, option(1, 0, 1), option(1, 1, 0))}, Roots: []int{2}}, []api.Term{double}},
+		{api.Space{Nodes: []api.Node{spacetest.Leaf(0, 0), spacetest.Leaf(0, 0)}, Roots: []int{0, 1}}, []api.Term{one}},
+		{api.Space{Nodes: []api.Node{spacetest.Leaf(0, 0), spacetest.Leaf(0, 0), spacetest.Node(0, 3, spacetest.Option(1, 0, 1), spacetest.Option(1, 1, 0))}, Roots: []int{2}}, []api.Term{double}},
 		// A node with options, none of which has terms.
-		{api.Space{Nodes: []api.Node{leaf(0, 0), leaf(0), node(0, 3, option(1, 0, 1), option(1, 1, 1)), node(0, 5, option(1, 0, 2))}, Roots: []int{1, 2, 3}}, nil},
+		{api.Space{Nodes: []api.Node{spacetest.Leaf(0, 0), spacetest.Leaf(0), spacetest.Node(0, 3, spacetest.Option(1, 0, 1), spacetest.Option(1, 1, 1)), spacetest.Node(0, 5, spacetest.Option(1, 0, 2))}, Roots: []int{1, 2, 3}}, nil},
 		// Terms with many arguments, which begin in the same way.
 		{choicesOf(2, 5), programs(choicesOf(2, 5))},
 		{choicesOf(3, 7), programs(choicesOf(3, 7))},
@@ -146,9 +147,9 @@ func TestSetExamples(t *testing.T) {
 			t.Errorf("case %d: %v, %d", i, list, e)
 		}
 		for _, y := range []api.Term{one, double, wideTerm} {
-			isThere := slices.ContainsFunc(x.want, func(z api.Term) bool { return write(y) == write(z) })
+			isThere := slices.ContainsFunc(x.want, func(z api.Term) bool { return spacetest.Write(y) == spacetest.Write(z) })
 			if space.Contains(x.s, y) != isThere || space.Empty(x.s) != (len(x.want) == 0) {
-				t.Errorf("case %d: %s", i, write(y))
+				t.Errorf("case %d: %s", i, spacetest.Write(y))
 			}
 		}
 		checkEqualTrim(t, x.s)
@@ -157,19 +158,19 @@ func TestSetExamples(t *testing.T) {
 
 // choicesOf returns the version space of all terms with a rule at the root that have so many arguments, which are leaves.
 func choicesOf(leaves, args int) api.Space {
-	return api.Space{Nodes: []api.Node{leaf(0, numbersFrom(1, leaves)...), node(0, args+1, option(9, make([]int, args)...))}, Roots: []int{1}}
+	return api.Space{Nodes: []api.Node{spacetest.Leaf(0, spacetest.Numbers(1, leaves)...), spacetest.Node(0, args+1, spacetest.Option(9, make([]int, args)...))}, Roots: []int{1}}
 }
 
 func checkEqualTrim(t *testing.T, s api.Space) {
 	t.Helper()
-	if x, e := space.Trim(s); e != api.OK || !equalSpaces(x, trimmed(s)) {
+	if x, e := space.Trim(s); e != api.OK || !spacetest.Equal(x, trimmed(s)) {
 		t.Errorf("Trim of %v is %v, %d", s, x, e)
 	}
 }
 
 // P25.2: terms of any form, and such that contain themselves.
 func TestContainsOfAnyTerm(t *testing.T) {
-	s := api.Space{Nodes: []api.Node{leaf(0, 0), node(0, 3, option(1, 0, 0)), node(0, 2, option(2, 0)), node(0, 24, option(3, make([]int, 23)...))}, Roots: []int{0, 1, 2, 3}}
+	s := api.Space{Nodes: []api.Node{spacetest.Leaf(0, 0), spacetest.Node(0, 3, spacetest.Option(1, 0, 0)), spacetest.Node(0, 2, spacetest.Option(2, 0)), spacetest.Node(0, 24, spacetest.Option(3, make([]int, 23)...))}, Roots: []int{0, 1, 2, 3}}
 	endless := api.Term{Rule: 2, Args: make([]api.Term, 1)}
 	endless.Args[0] = endless
 	twice := api.Term{Rule: 1, Args: make([]api.Term, 2)}
@@ -212,11 +213,11 @@ func TestContainsOfAnyTerm(t *testing.T) {
 
 // P25.2, P25.3, P25.6: version spaces that are not well-formed.
 func TestMalformed(t *testing.T) {
-	for i, s := range malformed() {
+	for i, s := range spacetest.Malformed() {
 		if space.Contains(s, derivation(0)) || !space.Empty(s) {
 			t.Errorf("version space %d has programs", i)
 		}
-		if x, e := space.Trim(s); e != api.ErrForm || !isZero(x) {
+		if x, e := space.Trim(s); e != api.ErrForm || !spacetest.IsZero(x) {
 			t.Errorf("Trim of version space %d is %v, %d", i, x, e)
 		}
 		if list, e := space.Terms(s); e != api.ErrForm || len(list) > 0 {
@@ -228,7 +229,7 @@ func TestMalformed(t *testing.T) {
 // pairs returns a version space with so many leaves, and pairs of them, and further programs of size 1.
 func pairs(leaves, further int) api.Space {
 	return api.Space{
-		Nodes: []api.Node{leaf(0, numbersFrom(1, leaves)...), node(0, 3, option(0, 0, 0)), leaf(0, numbersFrom(1000, 999+further)...)},
+		Nodes: []api.Node{spacetest.Leaf(0, spacetest.Numbers(1, leaves)...), spacetest.Node(0, 3, spacetest.Option(0, 0, 0)), spacetest.Leaf(0, spacetest.Numbers(1000, 999+further)...)},
 		Roots: []int{1, 2},
 	}
 }
@@ -236,7 +237,7 @@ func pairs(leaves, further int) api.Space {
 // P25.6: as many programs as may be listed, and one more.
 func TestTermsLimit(t *testing.T) {
 	ambiguous := pairs(64, 0)
-	ambiguous.Nodes = append(ambiguous.Nodes, leaf(0, numbersFrom(1, 63)...), node(0, 3, option(0, 0, 3), option(0, 3, 0)))
+	ambiguous.Nodes = append(ambiguous.Nodes, spacetest.Leaf(0, spacetest.Numbers(1, 63)...), spacetest.Node(0, 3, spacetest.Option(0, 0, 3), spacetest.Option(0, 3, 0)))
 	ambiguous.Roots = []int{1, 4}
 	chain := pairs(64, 0)
 	for size := 4; size <= api.MaxSize; size++ {
@@ -244,12 +245,12 @@ func TestTermsLimit(t *testing.T) {
 		if size == 4 {
 			last = 1
 		}
-		chain.Nodes = append(chain.Nodes, node(0, size, option(2000, last)))
+		chain.Nodes = append(chain.Nodes, spacetest.Node(0, size, spacetest.Option(2000, last)))
 	}
 	chain.Roots = []int{len(chain.Nodes) - 1}
 	large := pairs(100, 0)
 	// A node that no program needs may have any number of terms.
-	large.Nodes = append(large.Nodes, leaf(0, 1), node(0, 5, option(0, 1, 3)), leaf(0), node(0, 7, option(0, 4, 5)), node(0, 7, option(0, 1, 1)))
+	large.Nodes = append(large.Nodes, spacetest.Leaf(0, 1), spacetest.Node(0, 5, spacetest.Option(0, 1, 3)), spacetest.Leaf(0), spacetest.Node(0, 7, spacetest.Option(0, 4, 5)), spacetest.Node(0, 7, spacetest.Option(0, 1, 1)))
 	large.Roots = []int{0, 6}
 	for i, x := range []struct {
 		s     api.Space
@@ -280,30 +281,30 @@ func TestTermsLimit(t *testing.T) {
 // P25.6: very many ways to few programs, and very many programs.
 func TestTermsOfManyWays(t *testing.T) {
 	const width = 36
-	s := api.Space{Nodes: slices.Repeat([]api.Node{leaf(0, 0)}, width)}
+	s := api.Space{Nodes: slices.Repeat([]api.Node{spacetest.Leaf(0, 0)}, width)}
 	for size := 2; size <= api.MaxSize; size++ {
-		n := node(0, size)
+		n := spacetest.Node(0, size)
 		for i := range width {
-			n.Options = append(n.Options, option(1, (size-2)*width+i))
+			n.Options = append(n.Options, spacetest.Option(1, (size-2)*width+i))
 		}
 		s.Nodes = append(s.Nodes, slices.Repeat([]api.Node{n}, width)...)
 	}
-	s.Roots = numbersFrom(0, len(s.Nodes)-1)
+	s.Roots = spacetest.Numbers(0, len(s.Nodes)-1)
 	deep := derivation(0)
 	for range api.MaxSize - 1 {
 		deep = derivation(1, deep)
 	}
 	list, e := space.Terms(s)
-	if e != api.OK || len(list) != api.MaxSize || write(list[api.MaxSize-1]) != write(deep) {
+	if e != api.OK || len(list) != api.MaxSize || spacetest.Write(list[api.MaxSize-1]) != spacetest.Write(deep) {
 		t.Error(list, e)
 	}
 	if !space.Contains(s, deep) || space.Contains(s, derivation(1, deep)) || space.Contains(s, derivation(1)) || space.Empty(s) {
 		t.Error("Contains and Empty")
 	}
-	if x, e := space.Trim(s); e != api.OK || !equalSpaces(x, s) {
+	if x, e := space.Trim(s); e != api.OK || !spacetest.Equal(x, s) {
 		t.Error(e)
 	}
-	many := api.Space{Nodes: []api.Node{leaf(0, 0, 1), node(0, 24, option(2, make([]int, 23)...))}, Roots: []int{1}}
+	many := api.Space{Nodes: []api.Node{spacetest.Leaf(0, 0, 1), spacetest.Node(0, 24, spacetest.Option(2, make([]int, 23)...))}, Roots: []int{1}}
 	if list, e := space.Terms(many); e != api.ErrMany || len(list) > 0 {
 		t.Error(len(list), e)
 	}
