@@ -6,6 +6,7 @@ import (
 
 	"synthesis/api"
 	"synthesis/bottomup"
+	"synthesis/statetest"
 	"synthesis/term"
 )
 
@@ -46,7 +47,7 @@ func TestBuildAndRounds(t *testing.T) {
 
 // P24.1, P24.4: the examples, undefined outcomes, symbols without terms, and the order of terms.
 func TestBuildExamples(t *testing.T) {
-	l, b, o := sums(), backwards(), overflow()
+	l, b, o := statetest.Sums(), statetest.Backwards(), statetest.Overflow()
 	for i, x := range []struct {
 		l      api.Language
 		tuples [][]api.Value
@@ -55,22 +56,22 @@ func TestBuildExamples(t *testing.T) {
 		want   []string
 		rounds []int
 	}{
-		{l, numbers(1), 3, 0, []string{"in0", "0", "add(in0, in0)"}, []int{2, 0, 1}},
-		{l, numbers(1), 4, 0, []string{"in0", "0", "add(in0, in0)"}, []int{2, 0, 1, 0}},
-		{l, numbers(1), 5, 0, []string{"in0", "0", "add(in0, in0)", "add(in0, add(in0, in0))"}, []int{2, 0, 1, 0, 1}},
-		{l, numbers(0), api.MaxSize, 0, []string{"in0"}, append([]int{1}, make([]int, api.MaxSize-1)...)},
+		{l, statetest.Numbers(1), 3, 0, []string{"in0", "0", "add(in0, in0)"}, []int{2, 0, 1}},
+		{l, statetest.Numbers(1), 4, 0, []string{"in0", "0", "add(in0, in0)"}, []int{2, 0, 1, 0}},
+		{l, statetest.Numbers(1), 5, 0, []string{"in0", "0", "add(in0, in0)", "add(in0, add(in0, in0))"}, []int{2, 0, 1, 0, 1}},
+		{l, statetest.Numbers(0), api.MaxSize, 0, []string{"in0"}, append([]int{1}, make([]int, api.MaxSize-1)...)},
 		{l, nil, 3, 0, []string{"in0"}, []int{1, 0, 0}},
-		{l, numbers(1000000), 5, 0, []string{"in0", "0", "add(in0, in0)"}, []int{2, 0, 1, 0, 0}},
-		{l, numbers(1, 1000000), 5, 0, []string{"in0", "0", "add(in0, in0)", "add(in0, add(in0, in0))"}, []int{2, 0, 1, 0, 1}},
+		{l, statetest.Numbers(1000000), 5, 0, []string{"in0", "0", "add(in0, in0)"}, []int{2, 0, 1, 0, 0}},
+		{l, statetest.Numbers(1, 1000000), 5, 0, []string{"in0", "0", "add(in0, in0)", "add(in0, add(in0, in0))"}, []int{2, 0, 1, 0, 1}},
 		// Of the sums with three terms, the one with the larger first argument is the first.
-		{b, numbers(0), 5, 0, []string{"1", "in0", "neg(1)", "add(1, 1)", "neg(add(1, 1))", "add(add(1, 1), 1)"}, []int{2, 1, 1, 1, 1}},
-		{o, numbers(1), 3, 1, []string{"in0", "1000000", "mul(1000000, 1000000)"}, nil},
-		{o, numbers(0), 3, 1, []string{"in0", "1000000", "mul(1000000, 1000000)"}, nil},
-		{choices(), nil, 9, 3, nil, nil},
-		{choices(), nil, 9, 2, []string{"true"}, nil},
-		{choices(), nil, 2, 0, []string{"in0"}, []int{3, 0}},
-		{language("language late\ninputs\nsymbol S int\nsymbol A int\nrule S = neg(A)\nrule A = 1\n"), nil, 3, 0, []string{"neg(1)"}, []int{1, 1, 0}},
-		{empty(), numbers(1), 2, 0, nil, []int{0, 0}},
+		{b, statetest.Numbers(0), 5, 0, []string{"1", "in0", "neg(1)", "add(1, 1)", "neg(add(1, 1))", "add(add(1, 1), 1)"}, []int{2, 1, 1, 1, 1}},
+		{o, statetest.Numbers(1), 3, 1, []string{"in0", "1000000", "mul(1000000, 1000000)"}, nil},
+		{o, statetest.Numbers(0), 3, 1, []string{"in0", "1000000", "mul(1000000, 1000000)"}, nil},
+		{statetest.Choices(), nil, 9, 3, nil, nil},
+		{statetest.Choices(), nil, 9, 2, []string{"true"}, nil},
+		{statetest.Choices(), nil, 2, 0, []string{"in0"}, []int{3, 0}},
+		{statetest.Language("language late\ninputs\nsymbol S int\nsymbol A int\nrule S = neg(A)\nrule A = 1\n"), nil, 3, 0, []string{"neg(1)"}, []int{1, 1, 0}},
+		{statetest.Empty(), statetest.Numbers(1), 2, 0, nil, []int{0, 0}},
 	} {
 		got := bank(t, x.l, x.tuples, x.most)
 		if len(got.Terms) != len(x.l.Symbols) {
@@ -97,8 +98,8 @@ func TestBuildWithGreatBounds(t *testing.T) {
 		{all[5], 11, 30},
 		{all[5], 12, 32},
 		{all[5], api.MaxSize, 32},
-		{family{l: sums(), tuples: numbers(1)}, api.MaxSize, 13},
-		{family{l: sums(), tuples: numbers(400000)}, api.MaxSize, 4},
+		{family{l: statetest.Sums(), tuples: statetest.Numbers(1)}, api.MaxSize, 13},
+		{family{l: statetest.Sums(), tuples: statetest.Numbers(400000)}, api.MaxSize, 4},
 	} {
 		count := 0
 		for _, list := range bank(t, x.l, x.tuples, x.most).Terms {
@@ -131,17 +132,17 @@ func TestArgumentsAreRepresentatives(t *testing.T) {
 func TestEachTermHasARepresentative(t *testing.T) {
 	for _, x := range families() {
 		b := bank(t, x.l, x.tuples, x.most)
-		o := oracleOf(x.l)
+		o := statetest.OracleOf(x.l)
 		for symbol := range x.l.Symbols {
 			keys := map[string]api.Term{}
 			for _, y := range b.Terms[symbol] {
-				keys[keyOf(x.l, y, x.tuples)] = y
+				keys[statetest.Key(x.l, y, x.tuples)] = y
 			}
 			if len(keys) != len(b.Terms[symbol]) {
 				t.Fatalf("%s: %d classes have %d representatives", x.l.Name, len(keys), len(b.Terms[symbol]))
 			}
-			for _, y := range o.upTo(symbol, x.most) {
-				first, isThere := keys[keyOf(x.l, y, x.tuples)]
+			for _, y := range o.UpTo(symbol, x.most) {
+				first, isThere := keys[statetest.Key(x.l, y, x.tuples)]
 				if !isThere || term.Compare(first, y) > 0 {
 					t.Fatalf("%s: %s has the representative %s, %t", x.l.Name, write(y), write(first), isThere)
 				}

@@ -12,6 +12,7 @@ import (
 	"synthesis/example"
 	"synthesis/grammar"
 	"synthesis/notation"
+	"synthesis/statetest"
 	"synthesis/term"
 	"synthesis/value"
 )
@@ -89,10 +90,10 @@ func TestFindIsTheFirst(t *testing.T) {
 		list []api.Example
 		most int
 	}{
-		{sums(), []api.Example{number(2, 6), number(0, 0), number(0, 0), number(-1, -3), number(1, 4)}, 9},
-		{backwards(), []api.Example{number(2, 3), number(0, 1), number(0, 1), number(5, 6), number(5, 6)}, 8},
-		{backwards(), []api.Example{number(2, 0), number(0, -2), number(7, 5)}, 8},
-		{included("strings"), texts([2]string{"ada lovelace", "ada"}, [2]string{"alan turing", "alan"}, [2]string{"", ""}, [2]string{"a", "a"}), 4},
+		{statetest.Sums(), []api.Example{number(2, 6), number(0, 0), number(0, 0), number(-1, -3), number(1, 4)}, 9},
+		{statetest.Backwards(), []api.Example{number(2, 3), number(0, 1), number(0, 1), number(5, 6), number(5, 6)}, 8},
+		{statetest.Backwards(), []api.Example{number(2, 0), number(0, -2), number(7, 5)}, 8},
+		{statetest.Included("strings"), texts([2]string{"ada lovelace", "ada"}, [2]string{"alan turing", "alan"}, [2]string{"", ""}, [2]string{"a", "a"}), 4},
 	}
 	for _, x := range lists {
 		for n := range len(x.list) + 1 {
@@ -109,9 +110,9 @@ func TestFindIsTheFirst(t *testing.T) {
 
 // P24.2: the examples of the document, outputs that no program has, and programs without an outcome.
 func TestFindExamples(t *testing.T) {
-	l, b, o := sums(), backwards(), overflow()
-	identity := language("language identity\ninputs text\nsymbol S text\nrule S = in0\n")
-	bools := language("language bools\ninputs\nsymbol B bool\nsymbol I int\nrule B = eqint(I, I)\nrule I = add(I, I)\nrule I = 1000000\n")
+	l, b, o := statetest.Sums(), statetest.Backwards(), statetest.Overflow()
+	identity := statetest.Language("language identity\ninputs text\nsymbol S text\nrule S = in0\n")
+	bools := statetest.Language("language bools\ninputs\nsymbol B bool\nsymbol I int\nrule B = eqint(I, I)\nrule I = add(I, I)\nrule I = 1000000\n")
 	for i, x := range []struct {
 		l    api.Language
 		list []api.Example
@@ -139,10 +140,10 @@ func TestFindExamples(t *testing.T) {
 		{o, []api.Example{number(1000000, 0), number(-1, 1)}, 5, ""},
 		{bools, []api.Example{{Output: value.OfBool(false)}}, 5, ""},
 		{bools, []api.Example{{Output: value.OfBool(true)}}, 5, "eqint(1000000, 1000000)"},
-		{choices(), []api.Example{{Inputs: []api.Value{value.OfText("ada lovelace"), value.OfInt(1)}, Output: value.OfText("lovelace")}}, 4, "word(in0, in1)"},
-		{included("strings"), texts([2]string{"ada lovelace", "ADA"}, [2]string{"alan turing", "ALAN"}), 4, "upper(word(in0, 0))"},
-		{empty(), nil, api.MaxSize, ""},
-		{language("language late\ninputs\nsymbol S int\nsymbol A int\nrule S = neg(A)\nrule A = 1\n"), nil, 1, ""},
+		{statetest.Choices(), []api.Example{{Inputs: []api.Value{value.OfText("ada lovelace"), value.OfInt(1)}, Output: value.OfText("lovelace")}}, 4, "word(in0, in1)"},
+		{statetest.Included("strings"), texts([2]string{"ada lovelace", "ADA"}, [2]string{"alan turing", "ALAN"}), 4, "upper(word(in0, 0))"},
+		{statetest.Empty(), nil, api.MaxSize, ""},
+		{statetest.Language("language late\ninputs\nsymbol S int\nsymbol A int\nrule S = neg(A)\nrule A = 1\n"), nil, 1, ""},
 	} {
 		got, e := bottomup.Find(x.l, x.list, x.most)
 		if x.want == "" && (e != api.ErrUnreal || !isZero(got)) {
@@ -156,7 +157,7 @@ func TestFindExamples(t *testing.T) {
 
 // P24.2: errors in their order.
 func TestFindErrors(t *testing.T) {
-	l, text, tooGreat := sums(), value.OfText("a"), int64(api.MaxInt+1)
+	l, text, tooGreat := statetest.Sums(), value.OfText("a"), int64(api.MaxInt+1)
 	good, conflict := []api.Example{number(1, 2)}, []api.Example{number(1, 2), number(1, 3)}
 	for i, x := range []struct {
 		l    api.Language
@@ -194,7 +195,7 @@ func TestFindErrors(t *testing.T) {
 			t.Errorf("case %d: %d", i, e)
 		}
 	}
-	for _, l := range invalid() {
+	for _, l := range statetest.Invalid() {
 		for _, list := range [][]api.Example{nil, good, conflict} {
 			if got, e := bottomup.Find(l, list, 0); e == api.OK || e != grammar.Check(l) || !isZero(got) {
 				t.Errorf("%s: %s, %d", l.Name, write(got), e)

@@ -6,6 +6,7 @@ import (
 
 	"synthesis/api"
 	"synthesis/eval"
+	"synthesis/states"
 	"synthesis/term"
 )
 
@@ -33,7 +34,7 @@ type growingBank struct {
 
 // checkAndGrow returns what grow returns, unless the language, the tuples or the bound have an error.
 func checkAndGrow(l api.Language, tuples [][]api.Value, most int) (*growingBank, api.Errno) {
-	if e := check(l, tuples, most); e != api.OK {
+	if e := states.Check(l, tuples, most); e != api.OK {
 		return nil, e
 	}
 	return grow(l, tuples, most)

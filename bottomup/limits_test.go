@@ -6,75 +6,28 @@ import (
 
 	"synthesis/api"
 	"synthesis/bottomup"
+	"synthesis/statetest"
 	"synthesis/term"
 	"synthesis/value"
 )
 
-// constantRules returns rules for a symbol that derives constants.
-func constantRules(symbol int, constants []api.Value) []api.Rule {
-	var rules []api.Rule
-	for _, c := range constants {
-		rules = append(rules, api.Rule{Symbol: symbol, Kind: api.RuleConst, Const: c})
-	}
-	return rules
-}
-
-// signs returns texts of one byte each, none of which is a letter.
-func signs(count int) []api.Value {
-	var list []api.Value
-	for i := range count {
-		list = append(list, value.OfText(string([]byte{byte(33 + i)})))
-	}
-	return list
-}
-
-// integers returns the numbers from 1 on.
-func integers(count int) []api.Value {
-	var list []api.Value
-	for i := range count {
-		list = append(list, value.OfInt(int64(i+1)))
-	}
-	return list
-}
-
-// op returns the rule of an operator.
-func op(symbol int, name string, args ...int) api.Rule {
-	return api.Rule{Symbol: symbol, Kind: api.RuleOp, Op: name, Args: args}
-}
-
-// symbols returns symbols with the names A, B and so on.
-func symbols(types ...int) []api.Symbol {
-	var list []api.Symbol
-	for i, t := range types {
-		list = append(list, api.Symbol{Name: string([]byte{byte('A' + i)}), Type: t})
-	}
-	return list
-}
-
-// manyStates returns a language in which the terms up to the size 3 have 4095 classes, and each of the leaves, which are all terms of the start symbol, has one more.
-func manyStates(leaves int) api.Language {
-	l := api.Language{Name: "many-states", Symbols: symbols(api.Int, api.Text, api.Text, api.Text)}
-	l.Rules = slices.Concat(constantRules(0, integers(leaves)), constantRules(1, signs(63)), []api.Rule{op(2, "trim", 1), op(3, "concat", 1, 1)})
-	return l
-}
-
 // manyOptions returns a language in which the terms up to the size 7 have 32767 options and fewer states, and each of the leaves, which are all terms of the start symbol, has one option more.
 // The options have arguments of the size 2.
 func manyOptions(leaves int) api.Language {
-	l := api.Language{Name: "many-options", Symbols: symbols(api.Int, api.Text, api.Text, api.Text, api.Int, api.Bool)}
-	operators := []api.Rule{op(3, "replace", 2, 2, 2), op(3, "concat", 2, 2), op(4, "find", 2, 2), op(5, "eqtext", 2, 2), op(2, "upper", 1), op(4, "len", 2)}
-	l.Rules = slices.Concat(constantRules(0, integers(leaves)), constantRules(1, signs(31)), operators)
+	l := api.Language{Name: "many-options", Symbols: statetest.Symbols(api.Int, api.Text, api.Text, api.Text, api.Int, api.Bool)}
+	operators := []api.Rule{statetest.Op(3, "replace", 2, 2, 2), statetest.Op(3, "concat", 2, 2), statetest.Op(4, "find", 2, 2), statetest.Op(5, "eqtext", 2, 2), statetest.Op(2, "upper", 1), statetest.Op(4, "len", 2)}
+	l.Rules = slices.Concat(statetest.ConstantRules(0, statetest.Integers(leaves)), statetest.ConstantRules(1, statetest.Letters(31)), operators)
 	return l
 }
 
 // growing returns a language that has 59 new classes of each size for each of three symbols, but for small sizes. Up to the greatest size these are 4071. Each of the leaves, which are all terms of the start symbol, has one more.
 func growing(leaves int) api.Language {
-	l := api.Language{Name: "growing", Symbols: symbols(api.Int, api.Ints, api.Ints, api.Ints)}
+	l := api.Language{Name: "growing", Symbols: statetest.Symbols(api.Int, api.Ints, api.Ints, api.Ints)}
 	var lists []api.Value
 	for i := range 59 {
 		lists = append(lists, value.OfInts([]int64{int64(i + 1), 0}))
 	}
-	l.Rules = slices.Concat(constantRules(0, integers(leaves)), constantRules(1, lists), []api.Rule{op(1, "running", 1), op(2, "running", 1), op(3, "running", 2)})
+	l.Rules = slices.Concat(statetest.ConstantRules(0, statetest.Integers(leaves)), statetest.ConstantRules(1, lists), []api.Rule{statetest.Op(1, "running", 1), statetest.Op(2, "running", 1), statetest.Op(3, "running", 2)})
 	return l
 }
 
@@ -90,10 +43,10 @@ type limited struct {
 func limits() []limited {
 	one := [][]api.Value{nil}
 	return []limited{
-		{manyStates(1), one, 3, api.MaxNodes, 4096},
-		{manyStates(2), one, 3, api.MaxNodes + 1, 4097},
-		{manyStates(2), one, 2, 128, 128},
-		{manyStates(2), nil, 3, 4, 67},
+		{statetest.ManyStates(1), one, 3, api.MaxNodes, 4096},
+		{statetest.ManyStates(2), one, 3, api.MaxNodes + 1, 4097},
+		{statetest.ManyStates(2), one, 2, 128, 128},
+		{statetest.ManyStates(2), nil, 3, 4, 67},
 		{manyOptions(1), one, 7, 1060, api.MaxOptions},
 		{manyOptions(2), one, 7, 1061, api.MaxOptions + 1},
 		{manyOptions(2), one, 6, 1030, 2978},
@@ -103,7 +56,7 @@ func limits() []limited {
 		{growing(26), one, api.MaxSize, api.MaxNodes + 1, 4097},
 		{growing(26), one, api.MaxSize - 1, 3920, 3920},
 		// The opposites of opposites are the numbers, so that there are few classes, but many terms.
-		{language("language opposites\ninputs\nsymbol S int\nrule S = 1\nrule S = neg(S)\n"), one, api.MaxSize, 2, 3},
+		{statetest.Language("language opposites\ninputs\nsymbol S int\nrule S = 1\nrule S = neg(S)\n"), one, api.MaxSize, 2, 3},
 	}
 }
 
@@ -161,10 +114,10 @@ func checkAll(t *testing.T, x limited, want api.Errno) {
 // P24.1, P24.4: rules with very many choices for some arguments and none for the last one, and then rules with very many options.
 func TestVeryManyChoices(t *testing.T) {
 	one := [][]api.Value{nil}
-	plain, vain, many := manyStates(1), manyStates(1), manyStates(1)
-	vain.Symbols = symbols(api.Int, api.Text, api.Text, api.Text, api.Text)
-	vain.Rules = append(vain.Rules, op(3, "replace", 3, 3, 4))
-	many.Rules = append(many.Rules, op(3, "replace", 3, 3, 3), op(2, "replace", 3, 3, 3), op(1, "replace", 3, 3, 3))
+	plain, vain, many := statetest.ManyStates(1), statetest.ManyStates(1), statetest.ManyStates(1)
+	vain.Symbols = statetest.Symbols(api.Int, api.Text, api.Text, api.Text, api.Text)
+	vain.Rules = append(vain.Rules, statetest.Op(3, "replace", 3, 3, 4))
+	many.Rules = append(many.Rules, statetest.Op(3, "replace", 3, 3, 3), statetest.Op(2, "replace", 3, 3, 3), statetest.Op(1, "replace", 3, 3, 3))
 	want, e := bottomup.Rounds(plain, one, api.MaxSize)
 	if e != api.OK || want[2] != 3969 {
 		t.Fatal(want, e)
@@ -215,7 +168,7 @@ func isNextWithinLimits(x family, b bottomup.Bank, most int) bool {
 	for symbol, list := range b.Terms {
 		keys := map[string]bool{}
 		for _, y := range list {
-			keys[keyOf(x.l, y, x.tuples)] = true
+			keys[statetest.Key(x.l, y, x.tuples)] = true
 		}
 		for rule, r := range x.l.Rules {
 			if r.Symbol == symbol {
@@ -232,7 +185,7 @@ func addKeys(x family, b bottomup.Bank, t api.Term, room int, keys map[string]bo
 	args := x.l.Rules[t.Rule].Args
 	if len(t.Args) == len(args) {
 		if room == 0 {
-			keys[keyOf(x.l, t, x.tuples)] = true
+			keys[statetest.Key(x.l, t, x.tuples)] = true
 		}
 		return
 	}

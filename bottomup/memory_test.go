@@ -7,6 +7,7 @@ import (
 	"synthesis/api"
 	"synthesis/bottomup"
 	"synthesis/grammar"
+	"synthesis/statetest"
 	"synthesis/value"
 )
 
@@ -88,8 +89,8 @@ func TestMemory(t *testing.T) {
 
 // DOC.md, rule 5: equal parts of a program are in different places.
 func TestMemoryOfEqualParts(t *testing.T) {
-	l := language("language equal\ninputs int\nsymbol S int\nsymbol A int\nsymbol B int\nrule S = mul(A, A)\nrule A = add(B, B)\nrule B = neg(B)\nrule B = in0\n")
-	b, e := bottomup.Build(l, numbers(3), 9)
+	l := statetest.Language("language equal\ninputs int\nsymbol S int\nsymbol A int\nsymbol B int\nrule S = mul(A, A)\nrule A = add(B, B)\nrule B = neg(B)\nrule B = in0\n")
+	b, e := bottomup.Build(l, statetest.Numbers(3), 9)
 	if e != api.OK {
 		t.Fatal(e)
 	}

@@ -8,6 +8,7 @@ import (
 	"synthesis/api"
 	"synthesis/bottomup"
 	"synthesis/grammar"
+	"synthesis/statetest"
 	"synthesis/value"
 )
 
@@ -37,15 +38,15 @@ func TestReachExamples(t *testing.T) {
 		most   int
 		want   []api.Outcome
 	}{
-		{sums(), numbers(1), 5, []api.Outcome{of(1), of(0), of(2), of(3)}},
-		{sums(), numbers(0, 1), 5, []api.Outcome{of(0)}},
-		{sums(), numbers(400000, 1), 7, []api.Outcome{of(400000), of(0), of(800000), undefined}},
-		{sums(), numbers(1000000), 7, []api.Outcome{of(1000000), of(0), undefined}},
-		{backwards(), numbers(3), 2, []api.Outcome{of(1), of(3), of(-1), of(-3)}},
+		{statetest.Sums(), statetest.Numbers(1), 5, []api.Outcome{of(1), of(0), of(2), of(3)}},
+		{statetest.Sums(), statetest.Numbers(0, 1), 5, []api.Outcome{of(0)}},
+		{statetest.Sums(), statetest.Numbers(400000, 1), 7, []api.Outcome{of(400000), of(0), of(800000), undefined}},
+		{statetest.Sums(), statetest.Numbers(1000000), 7, []api.Outcome{of(1000000), of(0), undefined}},
+		{statetest.Backwards(), statetest.Numbers(3), 2, []api.Outcome{of(1), of(3), of(-1), of(-3)}},
 		// The sums of equal ones come first.
-		{backwards(), numbers(3), 3, []api.Outcome{of(1), of(3), of(-1), of(-3), of(2), of(4), of(6)}},
-		{empty(), numbers(3), 3, nil},
-		{manyStates(2), [][]api.Value{nil}, 2, []api.Outcome{of(1), of(2)}},
+		{statetest.Backwards(), statetest.Numbers(3), 3, []api.Outcome{of(1), of(3), of(-1), of(-3), of(2), of(4), of(6)}},
+		{statetest.Empty(), statetest.Numbers(3), 3, nil},
+		{statetest.ManyStates(2), [][]api.Value{nil}, 2, []api.Outcome{of(1), of(2)}},
 	} {
 		if got, e := bottomup.Reach(x.l, x.tuples, x.most); e != api.OK || !equalOutcomes(got, x.want) {
 			t.Errorf("case %d: %v, %d, not %v", i, got, e, x.want)
@@ -55,7 +56,7 @@ func TestReachExamples(t *testing.T) {
 
 // P24.3: the class graph of all tuples must be within the limits, not only that of the first one.
 func TestReachLimits(t *testing.T) {
-	l, plain, rich := included("strings"), []api.Value{value.OfText("")}, []api.Value{value.OfText("ada lovelace")}
+	l, plain, rich := statetest.Included("strings"), []api.Value{value.OfText("")}, []api.Value{value.OfText("ada lovelace")}
 	for i, x := range []struct {
 		tuples [][]api.Value
 		want   api.Errno
@@ -77,7 +78,7 @@ func TestReachLimits(t *testing.T) {
 
 // P24.1, P24.3, P24.4: errors in their order.
 func TestErrors(t *testing.T) {
-	l, many := sums(), manyStates(2)
+	l, many := statetest.Sums(), statetest.ManyStates(2)
 	bad := [][]api.Value{{value.OfInt(1)}, {value.OfText("a")}, nil}
 	one := [][]api.Value{nil}
 	for i, x := range []struct {
@@ -86,22 +87,22 @@ func TestErrors(t *testing.T) {
 		most   int
 		want   api.Errno
 	}{
-		{l, numbers(1), 1, api.OK},
-		{l, numbers(1), api.MaxSize, api.OK},
+		{l, statetest.Numbers(1), 1, api.OK},
+		{l, statetest.Numbers(1), api.MaxSize, api.OK},
 		{l, nil, 1, api.OK},
 		{l, nil, 0, api.ErrRange},
-		{l, numbers(1), 0, api.ErrRange},
-		{l, numbers(1), -1, api.ErrRange},
-		{l, numbers(1), api.MaxSize + 1, api.ErrRange},
-		{l, numbers(1), math.MinInt, api.ErrRange},
-		{l, numbers(1), math.MaxInt, api.ErrRange},
+		{l, statetest.Numbers(1), 0, api.ErrRange},
+		{l, statetest.Numbers(1), -1, api.ErrRange},
+		{l, statetest.Numbers(1), api.MaxSize + 1, api.ErrRange},
+		{l, statetest.Numbers(1), math.MinInt, api.ErrRange},
+		{l, statetest.Numbers(1), math.MaxInt, api.ErrRange},
 		{l, bad, 3, api.ErrType},
 		{l, bad, 0, api.ErrType},
 		{l, bad[2:], 99, api.ErrSize},
 		{l, [][]api.Value{nil, {value.OfText("a")}}, 99, api.ErrSize},
-		{l, numbers(1, api.MaxInt+1), 0, api.ErrRange},
-		{l, append(numbers(1, 2, api.MaxInt+1), nil), 3, api.ErrRange},
-		{l, append(numbers(1, 2), nil, []api.Value{value.OfInt(api.MaxInt + 1)}), 3, api.ErrSize},
+		{l, statetest.Numbers(1, api.MaxInt+1), 0, api.ErrRange},
+		{l, append(statetest.Numbers(1, 2, api.MaxInt+1), nil), 3, api.ErrRange},
+		{l, append(statetest.Numbers(1, 2), nil, []api.Value{value.OfInt(api.MaxInt + 1)}), 3, api.ErrSize},
 		{many, bad, 3, api.ErrSize},
 		{many, one, 25, api.ErrRange},
 		{many, nil, 25, api.ErrRange},
@@ -113,8 +114,8 @@ func TestErrors(t *testing.T) {
 			t.Fatalf("case %d", i)
 		}
 	}
-	for _, l := range invalid() {
-		for _, tuples := range [][][]api.Value{nil, numbers(1), bad} {
+	for _, l := range statetest.Invalid() {
+		for _, tuples := range [][][]api.Value{nil, statetest.Numbers(1), bad} {
 			for _, most := range []int{1, 0, 99} {
 				if checkErrors(t, l, tuples, most, grammar.Check(l)); grammar.Check(l) == api.OK || t.Failed() {
 					t.Fatalf("%s: %v, %d", l.Name, tuples, most)

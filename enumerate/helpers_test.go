@@ -1,25 +1,15 @@
 package enumerate_test
 
 import (
-	"slices"
 	"strconv"
 	"strings"
 
 	"synthesis/api"
 	"synthesis/languages"
 	"synthesis/notation"
-	"synthesis/term"
+	"synthesis/statetest"
 	"synthesis/value"
 )
-
-// language returns the language with this text.
-func language(text string) api.Language {
-	l, line, e := notation.ParseLanguage(text)
-	if e != api.OK {
-		panic("line " + strconv.Itoa(line) + " of " + text)
-	}
-	return l
-}
 
 // program returns the term of a symbol with this text.
 func program(l api.Language, symbol int, text string) api.Term {
@@ -31,22 +21,22 @@ func program(l api.Language, symbol int, text string) api.Term {
 }
 
 func sums() api.Language {
-	return language("language sums\ninputs int\nsymbol S int\nrule S = in0\nrule S = add(S, S)\n")
+	return statetest.Language("language sums\ninputs int\nsymbol S int\nrule S = in0\nrule S = add(S, S)\n")
 }
 
 // unary returns a language that has one term of each size.
 func unary() api.Language {
-	return language("language unary\ninputs int\nsymbol S int\nrule S = neg(S)\nrule S = in0\n")
+	return statetest.Language("language unary\ninputs int\nsymbol S int\nrule S = neg(S)\nrule S = in0\n")
 }
 
 // choices returns a language with three symbols, in which the rules of a symbol are not together, and not in the order of the sizes.
 func choices() api.Language {
-	return language("language choices\ninputs text int\nsymbol T text\nsymbol I int\nsymbol B bool\nrule I = len(T)\nrule T = iftext(B, T, T)\nrule T = in0\nrule B = less(I, I)\nrule I = in1\nrule I = -1\nrule T = word(T, I)\nrule B = true\nrule T = upper(T)\n")
+	return statetest.Language("language choices\ninputs text int\nsymbol T text\nsymbol I int\nsymbol B bool\nrule I = len(T)\nrule T = iftext(B, T, T)\nrule T = in0\nrule B = less(I, I)\nrule I = in1\nrule I = -1\nrule T = word(T, I)\nrule B = true\nrule T = upper(T)\n")
 }
 
 // gaps returns a language with finitely many terms, not of all sizes, and symbols that have no term.
 func gaps() api.Language {
-	return language("language gaps\ninputs\nsymbol S int\nsymbol A int\nsymbol B int\nsymbol N int\nsymbol M int\nrule S = neg(N)\nrule S = add(A, A)\nrule S = 1\nrule S = add(A, B)\nrule A = add(B, B)\nrule A = 2\nrule B = 3\nrule B = sub(M, B)\nrule N = neg(M)\nrule M = add(N, B)\nrule B = neg(B)\nrule S = add(N, N)\n")
+	return statetest.Language("language gaps\ninputs\nsymbol S int\nsymbol A int\nsymbol B int\nsymbol N int\nsymbol M int\nrule S = neg(N)\nrule S = add(A, A)\nrule S = 1\nrule S = add(A, B)\nrule A = add(B, B)\nrule A = 2\nrule B = 3\nrule B = sub(M, B)\nrule N = neg(M)\nrule M = add(N, B)\nrule B = neg(B)\nrule S = add(N, N)\n")
 }
 
 // finite returns a language with a symbol that has three terms, of the sizes 1, 2 and 4, and one that has one term, of the size 24.
@@ -58,70 +48,15 @@ func finite() api.Language {
 	rules += "rule L = neg(E)\nrule E = add(C, F)\nrule F = add(C, C)\n"
 	rules += "rule C = add(D, D)\nrule D = max(A, A)\n"
 	symbols += "symbol C int\nsymbol D int\nsymbol E int\nsymbol F int\n"
-	return language(text + symbols + rules)
+	return statetest.Language(text + symbols + rules)
 }
 
 // tested returns languages of different shapes.
 func tested() []api.Language {
-	all := []api.Language{sums(), unary(), choices(), gaps(), finite(), language("language empty\ninputs\nsymbol S int\n")}
+	all := []api.Language{sums(), unary(), choices(), gaps(), finite(), statetest.Language("language empty\ninputs\nsymbol S int\n")}
 	for _, name := range languages.Names() {
 		l, _ := languages.Get(name)
 		all = append(all, l)
-	}
-	return all
-}
-
-// invalid returns languages that are not valid.
-func invalid() []api.Language {
-	noName, noSymbols, twice := sums(), sums(), sums()
-	noName.Name = ""
-	noSymbols.Symbols = nil
-	twice.Rules = append(twice.Rules, twice.Rules[0])
-	return []api.Language{{}, noName, noSymbols, twice}
-}
-
-// An oracle puts together all terms of a language, following the definitions. It knows those that it has put together before.
-type oracle struct {
-	l     api.Language
-	known map[[2]int][]api.Term
-}
-
-func oracleOf(l api.Language) oracle { return oracle{l, map[[2]int][]api.Term{}} }
-
-// terms returns the terms of a symbol that have the size, in the order of terms.
-func (o oracle) terms(symbol, size int) []api.Term {
-	all, isKnown := o.known[[2]int{symbol, size}]
-	if isKnown {
-		return all
-	}
-	for rule, r := range o.l.Rules {
-		if r.Symbol != symbol {
-			continue
-		}
-		for _, args := range o.lists(r.Args, size-1) {
-			all = append(all, api.Term{Rule: rule, Args: args})
-		}
-	}
-	slices.SortFunc(all, func(a, b api.Term) int { return slices.Compare(term.Rules(a), term.Rules(b)) })
-	o.known[[2]int{symbol, size}] = all
-	return all
-}
-
-// lists returns the lists of terms, one of each symbol, whose sizes add up to total.
-func (o oracle) lists(symbols []int, total int) [][]api.Term {
-	if len(symbols) == 0 && total == 0 {
-		return [][]api.Term{nil}
-	}
-	if len(symbols) == 0 {
-		return nil
-	}
-	var all [][]api.Term
-	for size := 1; size <= total; size++ {
-		for _, first := range o.terms(symbols[0], size) {
-			for _, others := range o.lists(symbols[1:], total-size) {
-				all = append(all, append([]api.Term{first}, others...))
-			}
-		}
 	}
 	return all
 }

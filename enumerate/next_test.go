@@ -9,6 +9,7 @@ import (
 	"synthesis/enumerate"
 	"synthesis/grammar"
 	"synthesis/notation"
+	"synthesis/statetest"
 	"synthesis/term"
 )
 
@@ -161,7 +162,7 @@ func TestNextErrors(t *testing.T) {
 			t.Errorf("case %d: %s, %t, %d, not %d", i, write(got), ok, e, x.want)
 		}
 	}
-	for _, l := range invalid() {
+	for _, l := range statetest.Invalid() {
 		for _, symbol := range []int{0, -1, 5} {
 			for _, x := range []api.Term{leaf(0), leaf(-7), endless} {
 				if got, ok, e := enumerate.Next(l, symbol, x); e == api.OK || e != grammar.Check(l) || ok || !isZero(got) {

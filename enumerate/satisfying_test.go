@@ -11,6 +11,7 @@ import (
 	"synthesis/example"
 	"synthesis/grammar"
 	"synthesis/languages"
+	"synthesis/statetest"
 	"synthesis/value"
 )
 
@@ -74,9 +75,9 @@ func TestSatisfyingAll(t *testing.T) {
 // matching returns the programs up to a size that match all examples, one by one.
 func matching(l api.Language, list []api.Example, most int) []api.Term {
 	var found []api.Term
-	o := oracleOf(l)
+	o := statetest.OracleOf(l)
 	for size := 1; size <= most; size++ {
-		for _, x := range o.terms(0, size) {
+		for _, x := range o.Terms(0, size) {
 			isWrong := func(y api.Example) bool {
 				v, e := eval.Run(l, x, y.Inputs)
 				return e != api.OK || !value.Equal(v, y.Output)
@@ -91,7 +92,7 @@ func matching(l api.Language, list []api.Example, most int) []api.Term {
 
 // P21.4: the examples of the document, and programs without an outcome.
 func TestSatisfyingExamples(t *testing.T) {
-	overflow := language("language overflow\ninputs int\nsymbol S int\nrule S = in0\nrule S = add(S, S)\nrule S = 1000000\n")
+	overflow := statetest.Language("language overflow\ninputs int\nsymbol S int\nrule S = in0\nrule S = add(S, S)\nrule S = 1000000\n")
 	for i, x := range []struct {
 		l    api.Language
 		list []api.Example
@@ -108,7 +109,7 @@ func TestSatisfyingExamples(t *testing.T) {
 		{overflow, []api.Example{number(-1, 999999), number(1, 1000000)}, 3, nil},
 		{overflow, []api.Example{number(-1, 999999)}, 3, []string{"add(in0, 1000000)", "add(1000000, in0)"}},
 		{overflow, []api.Example{number(1000000, 0)}, 5, nil},
-		{language("language bools\ninputs\nsymbol B bool\nsymbol I int\nrule B = eqint(I, I)\nrule I = add(I, I)\nrule I = 1000000\n"), []api.Example{{Output: value.OfBool(false)}}, 5, nil},
+		{statetest.Language("language bools\ninputs\nsymbol B bool\nsymbol I int\nrule B = eqint(I, I)\nrule I = add(I, I)\nrule I = 1000000\n"), []api.Example{{Output: value.OfBool(false)}}, 5, nil},
 	} {
 		got, e := enumerate.Satisfying(x.l, x.list, x.most)
 		var found []string
@@ -160,7 +161,7 @@ func TestSatisfyingErrors(t *testing.T) {
 			t.Errorf("case %d: %d", i, e)
 		}
 	}
-	for _, l := range invalid() {
+	for _, l := range statetest.Invalid() {
 		for _, list := range [][]api.Example{nil, good, conflict} {
 			if got, e := enumerate.Satisfying(l, list, 0); e == api.OK || e != grammar.Check(l) || len(got) > 0 {
 				t.Errorf("%s: %d programs, %d", l.Name, len(got), e)

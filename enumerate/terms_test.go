@@ -10,6 +10,7 @@ import (
 	"synthesis/counting"
 	"synthesis/enumerate"
 	"synthesis/grammar"
+	"synthesis/statetest"
 	"synthesis/term"
 )
 
@@ -29,11 +30,11 @@ func sizeUpTo(l api.Language, symbol int, count int64) int {
 // P21.1, P21.3, P21.5: all small terms of all symbols.
 func TestAllTerms(t *testing.T) {
 	for _, l := range tested() {
-		o := oracleOf(l)
+		o := statetest.OracleOf(l)
 		for symbol := range l.Symbols {
 			var upTo []api.Term
 			for size := 1; size <= sizeUpTo(l, symbol, 3000); size++ {
-				want := o.terms(symbol, size)
+				want := o.Terms(symbol, size)
 				upTo = append(upTo, want...)
 				if got, e := enumerate.Terms(l, symbol, size); e != api.OK || writeAll(got) != writeAll(want) {
 					t.Fatalf("%s: Terms of %d, %d are %d, not %d: %d", l.Name, symbol, size, len(got), len(want), e)
@@ -96,7 +97,7 @@ func pairs(leaves int) api.Language {
 		b.WriteString("rule S = " + strconv.Itoa(n) + "\n")
 	}
 	b.WriteString("rule S = add(A, A)\nrule S = sub(A, A)\nrule S = mul(A, A)\nrule S = max(A, A)\n")
-	return language(b.String())
+	return statetest.Language(b.String())
 }
 
 // P21.1: exactly MaxTerms terms, and one more.
@@ -137,7 +138,7 @@ func plenty() api.Language {
 	for n := range 64 {
 		b.WriteString("rule S = " + strconv.Itoa(n) + "\n")
 	}
-	return language(b.String())
+	return statetest.Language(b.String())
 }
 
 // P21.1, P21.2, P21.3: more terms than can be counted.
@@ -203,7 +204,7 @@ func TestTermsErrors(t *testing.T) {
 		},
 	}
 	for i, call := range calls {
-		for _, l := range invalid() {
+		for _, l := range statetest.Invalid() {
 			for _, n := range []int{0, -1, 99, 1} {
 				if e := call(l, n, n); e == api.OK || e != grammar.Check(l) {
 					t.Errorf("call %d: %d", i, e)

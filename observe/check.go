@@ -2,8 +2,8 @@ package observe
 
 import (
 	"synthesis/api"
-	"synthesis/eval"
 	"synthesis/grammar"
+	"synthesis/states"
 	"synthesis/term"
 )
 
@@ -17,7 +17,7 @@ func check(l api.Language, list []api.Term, tuples [][]api.Value) api.Errno {
 			return e
 		}
 	}
-	return checkTuples(l, tuples)
+	return states.CheckTuples(l, tuples)
 }
 
 func checkTerm(l api.Language, t api.Term) api.Errno {
@@ -32,19 +32,13 @@ func checkBound(l api.Language, symbol, most int, tuples [][]api.Value) api.Errn
 	if e := grammar.Check(l); e != api.OK {
 		return e
 	}
-	if !isIndex(symbol, len(l.Symbols)) || most < 1 || most > api.MaxSize {
+	if !isIndex(symbol, len(l.Symbols)) {
 		return api.ErrRange
 	}
-	return checkTuples(l, tuples)
-}
-
-func checkTuples(l api.Language, tuples [][]api.Value) api.Errno {
-	for _, tuple := range tuples {
-		if e := eval.Inputs(l, tuple); e != api.OK {
-			return e
-		}
+	if e := states.CheckBound(most); e != api.OK {
+		return e
 	}
-	return api.OK
+	return states.CheckTuples(l, tuples)
 }
 
 func isIndex(i, count int) bool { return 0 <= i && i < count }

@@ -7,6 +7,7 @@ import (
 	"synthesis/api"
 	"synthesis/eval"
 	"synthesis/observe"
+	"synthesis/statetest"
 	"synthesis/value"
 )
 
@@ -28,7 +29,7 @@ func TestKeysAndSame(t *testing.T) {
 			keys := make([]string, len(list))
 			for i, a := range list {
 				k, e := observe.Key(x.l, a, tuples)
-				if want := eval.Key(outcomes(x.l, a, tuples)); e != api.OK || k != want {
+				if want := eval.Key(statetest.Outcomes(x.l, a, tuples)); e != api.OK || k != want {
 					t.Fatalf("%s: the key of %v is %q, %d, not %q", x.l.Name, a, k, e, want)
 				}
 				keys[i] = k
@@ -47,29 +48,29 @@ func TestKeysAndSame(t *testing.T) {
 
 // P22.1: the examples, undefined outcomes, values of different types, and terms of different symbols.
 func TestSame(t *testing.T) {
-	l, o := sums(), overflow()
-	m := mixture()
-	tuples := families()[3].tuples
+	l, o := statetest.Sums(), statetest.Overflow()
+	m := statetest.Mixture()
+	tuples := families()[4].tuples
 	for i, x := range []struct {
 		l      api.Language
 		a, b   api.Term
 		tuples [][]api.Value
 		want   bool
 	}{
-		{l, program(l, "in0"), program(l, "add(in0, 0)"), numbers(0, 1, -7, 1000000), true},
-		{l, program(l, "in0"), program(l, "0"), numbers(0), true},
-		{l, program(l, "in0"), program(l, "0"), numbers(0, 1), false},
-		{l, program(l, "in0"), program(l, "0"), numbers(1, 0), false},
+		{l, program(l, "in0"), program(l, "add(in0, 0)"), statetest.Numbers(0, 1, -7, 1000000), true},
+		{l, program(l, "in0"), program(l, "0"), statetest.Numbers(0), true},
+		{l, program(l, "in0"), program(l, "0"), statetest.Numbers(0, 1), false},
+		{l, program(l, "in0"), program(l, "0"), statetest.Numbers(1, 0), false},
 		{l, program(l, "in0"), program(l, "0"), nil, true},
 		// Rule 1 and rule 5 have the same constant, rule 0 and rule 4 the same input.
-		{o, leaf(1), leaf(5), numbers(3), true},
-		{o, leaf(0), leaf(4), numbers(3, 4), true},
-		{o, leaf(0), leaf(5), numbers(1000000), true},
-		{o, program(o, "add(1000000, 1000000)"), program(o, "mul(1000000, 1000000)"), numbers(0), true},
-		{o, program(o, "add(in0, 1000000)"), program(o, "mul(1000000, in0)"), numbers(2), true},
-		{o, program(o, "add(in0, 1000000)"), program(o, "mul(1000000, in0)"), numbers(2, 0), false},
+		{o, leaf(1), leaf(5), statetest.Numbers(3), true},
+		{o, leaf(0), leaf(4), statetest.Numbers(3, 4), true},
+		{o, leaf(0), leaf(5), statetest.Numbers(1000000), true},
+		{o, program(o, "add(1000000, 1000000)"), program(o, "mul(1000000, 1000000)"), statetest.Numbers(0), true},
+		{o, program(o, "add(in0, 1000000)"), program(o, "mul(1000000, in0)"), statetest.Numbers(2), true},
+		{o, program(o, "add(in0, 1000000)"), program(o, "mul(1000000, in0)"), statetest.Numbers(2, 0), false},
 		// An undefined outcome is no value.
-		{o, program(o, "add(1000000, 1000000)"), program(o, "add(1000000, in0)"), numbers(-1000000), false},
+		{o, program(o, "add(1000000, 1000000)"), program(o, "add(1000000, in0)"), statetest.Numbers(-1000000), false},
 		{m, program(m, "[]"), program(m, "{}"), tuples, false},
 		{m, program(m, "[]"), program(m, "<>"), tuples, false},
 		{m, program(m, "0"), program(m, "0x00"), tuples, false},
@@ -82,7 +83,7 @@ func TestSame(t *testing.T) {
 			t.Errorf("case %d: %t, %d", i, got, e)
 		}
 	}
-	if k, e := observe.Key(o, program(o, "add(in0, 1000000)"), numbers(1, -1)); e != api.OK || k != "!9\n999999\n" {
+	if k, e := observe.Key(o, program(o, "add(in0, 1000000)"), statetest.Numbers(1, -1)); e != api.OK || k != "!9\n999999\n" {
 		t.Errorf("%q, %d", k, e)
 	}
 	if k, e := observe.Key(o, leaf(0), nil); e != api.OK || k != "" {
@@ -130,19 +131,19 @@ func TestClasses(t *testing.T) {
 
 // P22.2: the example, and lists without tuples.
 func TestClassesExamples(t *testing.T) {
-	l := sums()
+	l := statetest.Sums()
 	list := programs(l, "in0", "0", "add(in0, in0)")
 	for i, x := range []struct {
 		list   []api.Term
 		tuples [][]api.Value
 		want   [][]int
 	}{
-		{list, numbers(0, 1), [][]int{{0}, {1}, {2}}},
-		{list, numbers(0), [][]int{{0, 1, 2}}},
+		{list, statetest.Numbers(0, 1), [][]int{{0}, {1}, {2}}},
+		{list, statetest.Numbers(0), [][]int{{0, 1, 2}}},
 		{list, nil, [][]int{{0, 1, 2}}},
 		{nil, nil, nil},
-		{nil, numbers(0), nil},
-		{programs(l, "0", "add(0, in0)", "add(0, 0)", "in0", "0"), numbers(5), [][]int{{0, 2, 4}, {1, 3}}},
+		{nil, statetest.Numbers(0), nil},
+		{programs(l, "0", "add(0, in0)", "add(0, 0)", "in0", "0"), statetest.Numbers(5), [][]int{{0, 2, 4}, {1, 3}}},
 	} {
 		if got, e := observe.Classes(l, x.list, x.tuples); e != api.OK || !equalClasses(got, x.want) {
 			t.Errorf("case %d: %v, %d", i, got, e)
@@ -209,7 +210,7 @@ func checkSplits(t *testing.T, l api.Language, list []api.Term, tuples [][]api.V
 
 // P22.3: the example, and lists that are one class.
 func TestSplitsExamples(t *testing.T) {
-	l := sums()
+	l := statetest.Sums()
 	list := programs(l, "in0", "0", "add(in0, in0)")
 	for i, x := range []struct {
 		l      api.Language
@@ -217,14 +218,14 @@ func TestSplitsExamples(t *testing.T) {
 		tuples [][]api.Value
 		want   []int
 	}{
-		{l, list, numbers(0, 1), []int{1}},
-		{l, list, numbers(1, 0), []int{0}},
-		{l, list, numbers(0, 3, 2, 1), []int{1}},
-		{l, list, numbers(0, 0), nil},
+		{l, list, statetest.Numbers(0, 1), []int{1}},
+		{l, list, statetest.Numbers(1, 0), []int{0}},
+		{l, list, statetest.Numbers(0, 3, 2, 1), []int{1}},
+		{l, list, statetest.Numbers(0, 0), nil},
 		{l, list, nil, nil},
-		{l, nil, numbers(0, 1), nil},
-		{l, list[:1], numbers(0, 1), nil},
-		{l, programs(l, "in0", "in0"), numbers(0, 1), nil},
+		{l, nil, statetest.Numbers(0, 1), nil},
+		{l, list[:1], statetest.Numbers(0, 1), nil},
+		{l, programs(l, "in0", "in0"), statetest.Numbers(0, 1), nil},
 	} {
 		if got, e := observe.Splits(x.l, x.list, x.tuples); e != api.OK || !slices.Equal(got, x.want) {
 			t.Errorf("case %d: %v, %d, not %v", i, got, e, x.want)
@@ -234,7 +235,7 @@ func TestSplitsExamples(t *testing.T) {
 
 // matrix returns a language and terms that have the elements of the rows as their outcomes on the tuples 0, 1 and so on. A row ends with a further element, since the constants of a language are different.
 func matrix(rows ...[]int64) (api.Language, []api.Term) {
-	l := language("language matrix\ninputs int\nsymbol S int\nsymbol L ints\nsymbol I int\nrule S = element(L, I)\nrule I = in0\n")
+	l := statetest.Language("language matrix\ninputs int\nsymbol S int\nsymbol L ints\nsymbol I int\nrule S = element(L, I)\nrule I = in0\n")
 	var list []api.Term
 	for i, row := range rows {
 		l.Rules = append(l.Rules, api.Rule{Symbol: 1, Kind: api.RuleConst, Const: value.OfInts(append(row, int64(-1-i)))})
@@ -269,7 +270,7 @@ func TestSplitsChoices(t *testing.T) {
 		{[][]int64{{1, 2}, {1}, {1, 5}}, []int64{0, 2, 1}, []int{1}},
 	} {
 		l, list := matrix(x.rows...)
-		if got, e := observe.Splits(l, list, numbers(x.tuples...)); e != api.OK || !slices.Equal(got, x.want) {
+		if got, e := observe.Splits(l, list, statetest.Numbers(x.tuples...)); e != api.OK || !slices.Equal(got, x.want) {
 			t.Errorf("case %d: %v, %d, not %v", i, got, e, x.want)
 		}
 	}

@@ -7,6 +7,7 @@ import (
 	"synthesis/api"
 	"synthesis/grammar"
 	"synthesis/observe"
+	"synthesis/statetest"
 	"synthesis/value"
 )
 
@@ -33,7 +34,7 @@ func checkTerms(t *testing.T, l api.Language, list []api.Term, tuples [][]api.Va
 
 // P22.1, P22.2, P22.3: the errors of terms and tuples, in their order.
 func TestTermErrors(t *testing.T) {
-	l := choices()
+	l := statetest.Choices()
 	good := program(l, "word(in0, in1)")
 	endless := api.Term{Args: make([]api.Term, 1)}
 	endless.Args[0] = endless
@@ -80,7 +81,7 @@ func TestTermErrors(t *testing.T) {
 			t.Fatalf("case %d", i)
 		}
 	}
-	for _, l := range invalid() {
+	for _, l := range statetest.Invalid() {
 		for _, list := range [][]api.Term{nil, {leaf(0)}, {leaf(0), leaf(9)}, {endless, endless}} {
 			for _, tuples := range [][][]api.Value{nil, {short}} {
 				checkTerms(t, l, list, tuples, grammar.Check(l))
@@ -94,8 +95,8 @@ func TestTermErrors(t *testing.T) {
 
 // P22.4: errors in their order.
 func TestCountErrors(t *testing.T) {
-	l, bad := sums(), [][]api.Value{{value.OfInt(1)}, {value.OfText("a")}, nil}
-	many, one := manyStates(2), [][]api.Value{nil}
+	l, bad := statetest.Sums(), [][]api.Value{{value.OfInt(1)}, {value.OfText("a")}, nil}
+	many, one := statetest.ManyStates(2), [][]api.Value{nil}
 	for i, x := range []struct {
 		l            api.Language
 		symbol, most int
@@ -126,7 +127,7 @@ func TestCountErrors(t *testing.T) {
 			t.Errorf("case %d: %d, %d, not %d", i, n, e, x.want)
 		}
 	}
-	for _, l := range invalid() {
+	for _, l := range statetest.Invalid() {
 		for _, n := range []int{1, 0, -1, 99} {
 			if got, e := observe.Count(l, n, n, bad); got != 0 || e == api.OK || e != grammar.Check(l) {
 				t.Errorf("%d, %d", got, e)

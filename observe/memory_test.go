@@ -13,8 +13,8 @@ import (
 
 // DOC.md, rule 5: results share no memory with each other, and arguments stay as they are.
 func TestMemory(t *testing.T) {
-	x := families()[3]
-	before := families()[3]
+	x := families()[4]
+	before := families()[4]
 	list, same := small(x.l, 3), small(x.l, 3)
 	isUsed := map[*int]bool{}
 	check := func(name string, cells []int) {

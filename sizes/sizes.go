@@ -1,4 +1,4 @@
-// Package sizes finds the sizes that the terms of a language have, up to MaxSize. It is no layer: the layers that count, list and combine terms share it.
+// Package sizes finds the sizes that the terms of a language have, up to MaxSize, and the least ones. It is no layer: the layers that count, list and combine terms share it.
 package sizes
 
 import "synthesis/api"

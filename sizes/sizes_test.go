@@ -136,3 +136,27 @@ func TestTable(t *testing.T) {
 		}
 	}
 }
+
+func TestLeast(t *testing.T) {
+	for _, l := range tested() {
+		least := sizes.Least(l)
+		if len(least) != len(l.Symbols) {
+			t.Fatalf("%s: %v", l.Name, least)
+		}
+		for symbol, s := range sizes.Of(l).BySymbol {
+			want := 0
+			if all := elements(s); len(all) > 0 {
+				want = all[0]
+			}
+			if small := least[symbol] <= api.MaxSize; small && least[symbol] != want || !small && want != 0 {
+				t.Errorf("%s: symbol %d: %d, not %d", l.Name, symbol, least[symbol], want)
+			}
+		}
+	}
+	// The least term of the first symbol is greater than MaxSize, and those of the second language have no end.
+	for i, want := range [][]int{{1}, {0, 0}, {1, 2, 5, 0}, {31, 15, 7, 3, 1}, {0}, {1}} {
+		if got := sizes.Least(tested()[i]); !slices.Equal(got, want) {
+			t.Errorf("case %d: %v, not %v", i, got, want)
+		}
+	}
+}
