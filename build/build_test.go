@@ -23,10 +23,10 @@ func TestSpace(t *testing.T) {
 		for n := range len(x.Tuples) + 1 {
 			tuples := x.Tuples[:n]
 			for _, most := range []int{1, x.Most - 2, x.Most - 1} {
-				for _, c := range classesOf(x.Language, tuples, most) {
-					if list, isDefined := c.examples(tuples); isDefined {
+				for _, c := range statetest.ClassesOf(x.Language, tuples, most) {
+					if list, isDefined := c.Examples(tuples); isDefined {
 						s, e := build.Space(x.Language, list, most)
-						checkSpace(t, x.Language, s, e, c.programs)
+						checkSpace(t, x.Language, s, e, c.Programs)
 					}
 				}
 			}
@@ -40,9 +40,9 @@ func TestOutcome(t *testing.T) {
 		for k, tuple := range x.Tuples {
 			for _, most := range []int{1, x.Most - 2, x.Most - 1} {
 				var all int64
-				for _, c := range classesOf(x.Language, x.Tuples[k:k+1], most) {
-					s, e := build.Outcome(x.Language, tuple, c.outcomes[0], most)
-					checkSpace(t, x.Language, s, e, c.programs)
+				for _, c := range statetest.ClassesOf(x.Language, x.Tuples[k:k+1], most) {
+					s, e := build.Outcome(x.Language, tuple, c.Outcomes[0], most)
+					checkSpace(t, x.Language, s, e, c.Programs)
 					all += count(t, s, e)
 				}
 				if want, e := counting.Total(x.Language, 0, most); e != api.OK || all != want {
@@ -181,9 +181,9 @@ func TestStatesExamples(t *testing.T) {
 func TestSatisfying(t *testing.T) {
 	for _, x := range statetest.Families() {
 		most := x.Most - 1
-		classes := classesOf(x.Language, x.Tuples, most)
+		classes := statetest.ClassesOf(x.Language, x.Tuples, most)
 		for i := 0; i < len(classes); i += 1 + len(classes)/20 {
-			list, isDefined := classes[i].examples(x.Tuples)
+			list, isDefined := classes[i].Examples(x.Tuples)
 			if !isDefined {
 				continue
 			}

@@ -26,41 +26,6 @@ func of(v api.Value) api.Outcome { return api.Outcome{Value: v} }
 
 func undefined() api.Outcome { return api.Outcome{Errno: api.ErrUndefined} }
 
-// A class is the programs that have the same outcomes.
-type class struct {
-	outcomes []api.Outcome
-	programs spacetest.Set
-}
-
-// classesOf returns the classes of the programs up to a size, in the order of their first programs.
-func classesOf(l api.Language, tuples [][]api.Value, most int) []class {
-	var classes []class
-	numbers := map[string]int{}
-	for _, t := range statetest.OracleOf(l).UpTo(0, most) {
-		key := statetest.Key(l, t, tuples)
-		i, isKnown := numbers[key]
-		if !isKnown {
-			i = len(classes)
-			numbers[key] = i
-			classes = append(classes, class{statetest.Outcomes(l, t, tuples), spacetest.Set{}})
-		}
-		classes[i].programs[spacetest.Write(t)] = t
-	}
-	return classes
-}
-
-// examples returns the examples that the programs of a class match, or false if one of their outcomes is undefined.
-func (c class) examples(tuples [][]api.Value) ([]api.Example, bool) {
-	var list []api.Example
-	for k, o := range c.outcomes {
-		if o.Errno != api.OK {
-			return nil, false
-		}
-		list = append(list, api.Example{Inputs: tuples[k], Output: o.Value})
-	}
-	return list, true
-}
-
 // checkSpace checks that a result is the canonical version space of these programs.
 func checkSpace(t *testing.T, l api.Language, s api.Space, e api.Errno, programs spacetest.Set) {
 	t.Helper()

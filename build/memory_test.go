@@ -36,12 +36,12 @@ func TestMemory(t *testing.T) {
 		for range 2 {
 			s, e := build.Space(x.Language, nil, x.Most-1)
 			check("Space", s, e)
-			for _, c := range classesOf(x.Language, x.Tuples[:1], 3) {
-				if list, isDefined := c.examples(x.Tuples[:1]); isDefined {
+			for _, c := range statetest.ClassesOf(x.Language, x.Tuples[:1], 3) {
+				if list, isDefined := c.Examples(x.Tuples[:1]); isDefined {
 					s, e := build.Space(x.Language, list, x.Most-1)
 					check("Space", s, e)
 				}
-				s, e := build.Outcome(x.Language, x.Tuples[0], c.outcomes[0], x.Most-1)
+				s, e := build.Outcome(x.Language, x.Tuples[0], c.Outcomes[0], x.Most-1)
 				check("Outcome", s, e)
 			}
 			build.States(x.Language, x.Tuples, x.Most-1)

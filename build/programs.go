@@ -3,21 +3,12 @@ package build
 import (
 	"synthesis/api"
 	"synthesis/canon"
-	"synthesis/operator"
 	"synthesis/states"
 )
 
-// grow returns the state graph of a language, tuples and a bound, or ErrLimit if it is not within the limits.
-func grow(l api.Language, tuples [][]api.Value, most int) ([]states.State, api.Errno) {
-	return states.Of(l, tuples, most, func(rule int, args []api.Value) api.Outcome {
-		v, e := operator.Apply(l.Rules[rule].Op, args)
-		return api.Outcome{Value: v, Errno: e}
-	})
-}
-
 // programs returns the canonical version space of the programs up to a size that have the required outcomes on tuples, of which it has the key.
 func programs(l api.Language, tuples [][]api.Value, most int, required string) (api.Space, api.Errno) {
-	graph, e := grow(l, tuples, most)
+	graph, e := states.Of(l, tuples, most, states.Operators(l))
 	if e != api.OK {
 		return api.Space{}, e
 	}

@@ -10,7 +10,7 @@ import (
 
 // ordered returns an unambiguous version space with its nodes in ascending order of size, then of symbol, then of their least terms. Every node must have a term and come after the smaller ones.
 func ordered(s api.Space) api.Space {
-	least := leastTerms(s.Nodes)
+	least := graph.LeastTerms(s.Nodes)
 	order := make([]int, len(s.Nodes))
 	for i := range order {
 		order[i] = i
@@ -29,24 +29,6 @@ func ordered(s api.Space) api.Space {
 		t.Nodes = append(t.Nodes, api.Node{Symbol: n.Symbol, Size: n.Size, Options: renumberedOptions(n.Options, numbers)})
 	}
 	return t
-}
-
-// leastTerms returns, for each node, the rules of its least term in preorder. All terms of a node have the same size, and so have all terms of an argument;
-// the order of terms is therefore that of these lists, and a least term has least terms as its arguments.
-func leastTerms(nodes []api.Node) [][]int {
-	least := make([][]int, len(nodes))
-	for i, n := range nodes {
-		for _, o := range n.Options {
-			rules := []int{o.Rule}
-			for _, arg := range o.Args {
-				rules = append(rules, least[arg]...)
-			}
-			if least[i] == nil || slices.Compare(rules, least[i]) < 0 {
-				least[i] = rules
-			}
-		}
-	}
-	return least
 }
 
 // renumbered returns the new numbers of the elements of a list, in ascending order, each once.

@@ -6,9 +6,9 @@ import (
 	"slices"
 
 	"synthesis/api"
-	"synthesis/eval"
 	"synthesis/inverse"
 	"synthesis/sizes"
+	"synthesis/states"
 	"synthesis/value"
 )
 
@@ -53,7 +53,7 @@ func (x *estimate) need(symbol int, outputs []api.Value, depth int) int {
 	if depth == 0 {
 		return x.least[symbol]
 	}
-	q := question{symbol, depth, keyOf(outputs)}
+	q := question{symbol, depth, states.KeyOf(outputs)}
 	if need, isKnown := x.known[q]; isKnown {
 		return need
 	}
@@ -121,13 +121,4 @@ func (x *estimate) byGoal(r api.Rule, goal [][]api.Value, depth int) int {
 		size += x.need(symbol, goal[i], depth-1)
 	}
 	return min(size, infinite)
-}
-
-// keyOf returns the key of outputs.
-func keyOf(outputs []api.Value) string {
-	var outcomes []api.Outcome
-	for _, v := range outputs {
-		outcomes = append(outcomes, api.Outcome{Value: v})
-	}
-	return eval.Key(outcomes)
 }

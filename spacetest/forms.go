@@ -56,15 +56,23 @@ func (r Rules) spaceOf(keys map[string]string, terms Set, isRoot func(text strin
 
 // Deterministic returns the subset graph of a version space, by its definition.
 func (r Rules) Deterministic(s api.Space) api.Space {
-	nodesOf := map[string]string{}
+	return r.Divided(s, func(api.Term) string { return "" })
+}
+
+// Divided returns the subset graph of a version space whose states are divided by a key of their terms, by its definition.
+func (r Rules) Divided(s api.Space, keyOf func(api.Term) string) api.Space {
+	keys := map[string]string{}
 	terms := Set{}
 	for i, list := range Derived(s) {
 		for text, t := range SetOf(list...) {
-			nodesOf[text] += strconv.Itoa(i) + ","
+			keys[text] += strconv.Itoa(i) + ","
 			terms[text] = t
 		}
 	}
-	return r.spaceOf(nodesOf, terms, Programs(s).Has)
+	for text, t := range terms {
+		keys[text] += keyOf(t)
+	}
+	return r.spaceOf(keys, terms, Programs(s).Has)
 }
 
 // Canonical returns the canonical version space of a set, by its definition.

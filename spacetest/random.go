@@ -32,9 +32,12 @@ func RulesOf(l api.Language) Rules {
 	return rules
 }
 
-// Random returns a well-formed version space of these rules with some nodes, whose sizes are at most 6. Nodes do not ascend by size, and some have no terms.
+// Random returns a well-formed version space of these rules with some nodes, whose sizes are at most 6. Nodes do not ascend by size, and some have no terms. Without rules there are no nodes.
 func (r Rules) Random(d *Dice, nodes int) api.Space {
 	var s api.Space
+	if len(r) == 0 {
+		return s
+	}
 	for range nodes {
 		n := r.randomNode(d, s.Nodes)
 		for rule, symbols := range r {

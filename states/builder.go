@@ -5,23 +5,19 @@ import (
 	"slices"
 
 	"synthesis/api"
-	"synthesis/eval"
 	"synthesis/sizes"
 )
 
 // A builder has the part of a state graph whose states have at most a size.
 type builder struct {
 	language api.Language
-	tuples   [][]api.Value
-	apply    Operation
 	sizes    sizes.Table
+	rows     Rows
 	states   []State
 	// numbers has the indices of the states.
 	numbers map[identity]int
 	// kinds has the indices of the states of each symbol and size.
-	kinds [][api.MaxSize + 1][]int
-	// rows has the rows by their keys.
-	rows    map[string]row
+	kinds   [][api.MaxSize + 1][]int
 	options int
 }
 
@@ -31,21 +27,13 @@ type identity struct {
 	key          string
 }
 
-// A row has the outcomes of a term on all tuples, and their key.
-type row struct {
-	outcomes []api.Outcome
-	key      string
-}
-
 func newBuilder(l api.Language, tuples [][]api.Value, apply Operation) *builder {
 	return &builder{
 		language: l,
-		tuples:   tuples,
-		apply:    apply,
 		sizes:    sizes.Of(l),
+		rows:     RowsOf(l, tuples, apply),
 		numbers:  map[identity]int{},
 		kinds:    make([][api.MaxSize + 1][]int, len(l.Symbols)),
-		rows:     map[string]row{},
 	}
 }
 
@@ -80,52 +68,26 @@ func (b *builder) countOptions(size int) bool {
 	return true
 }
 
+// row returns the row of the terms with a rule at their root whose arguments belong to these states.
+func (b *builder) row(rule int, args []int) Row {
+	rows := make([]Row, len(args))
+	for i, arg := range args {
+		rows[i] = b.states[arg].Row
+	}
+	return b.rows.Of(rule, rows)
+}
+
 // state returns the state with this row, which it adds if it is new.
-func (b *builder) state(symbol, size int, x row) int {
-	id := identity{symbol, size, x.key}
+func (b *builder) state(symbol, size int, x Row) int {
+	id := identity{symbol, size, x.Key}
 	number, isKnown := b.numbers[id]
 	if !isKnown {
 		number = len(b.states)
 		b.numbers[id] = number
 		b.kinds[symbol][size] = append(b.kinds[symbol][size], number)
-		b.states = append(b.states, State{api.Node{Symbol: symbol, Size: size}, x.outcomes, x.key})
+		b.states = append(b.states, State{api.Node{Symbol: symbol, Size: size}, x})
 	}
 	return number
-}
-
-// row returns the row of the terms with a rule at their root whose arguments belong to these states.
-func (b *builder) row(rule int, args []int) row {
-	list := make([]api.Outcome, len(b.tuples))
-	for k := range list {
-		list[k] = b.outcome(rule, args, k)
-	}
-	x := row{list, eval.Key(list)}
-	// States of different symbols and sizes often have the same outcomes.
-	if known, isKnown := b.rows[x.key]; isKnown {
-		return known
-	}
-	b.rows[x.key] = x
-	return x
-}
-
-// outcome returns the outcome on the tuple number k.
-func (b *builder) outcome(rule int, args []int, k int) api.Outcome {
-	r := b.language.Rules[rule]
-	switch r.Kind {
-	case api.RuleInput:
-		return api.Outcome{Value: b.tuples[k][r.Input]}
-	case api.RuleConst:
-		return api.Outcome{Value: r.Const}
-	}
-	values := make([]api.Value, len(args))
-	for i, arg := range args {
-		o := b.states[arg].Outcomes[k]
-		if o.Errno != api.OK {
-			return o
-		}
-		values[i] = o.Value
-	}
-	return b.apply(rule, values)
 }
 
 // arguments yields all lists of states of the symbols whose sizes add up to total, in ascending order. What it yields is valid until it goes on.

@@ -15,14 +15,6 @@ import (
 	"synthesis/value"
 )
 
-// applying returns the operation of a language.
-func applying(l api.Language) states.Operation {
-	return func(rule int, args []api.Value) api.Outcome {
-		v, e := operator.Apply(l.Rules[rule].Op, args)
-		return api.Outcome{Value: v, Errno: e}
-	}
-}
-
 // asSpace returns a version space with the states as its nodes.
 func asSpace(list []states.State) api.Space {
 	var s api.Space
@@ -65,7 +57,7 @@ func TestOf(t *testing.T) {
 	for _, x := range statetest.Families() {
 		for n := range len(x.Tuples) + 1 {
 			for most := 1; most <= x.Most; most++ {
-				got, e := states.Of(x.Language, x.Tuples[:n], most, applying(x.Language))
+				got, e := states.Of(x.Language, x.Tuples[:n], most, states.Operators(x.Language))
 				want := statetest.GraphOf(x.Language, x.Tuples[:n], most)
 				if (e == api.OK) != want.IsWithinLimits() {
 					t.Fatalf("%s: %d for %d states, %d options", x.Language.Name, e, len(want.States), want.Options)
@@ -90,7 +82,7 @@ func TestOperation(t *testing.T) {
 					t.Fatalf("%s: the rule %d gets %v", x.Language.Name, rule, args)
 				}
 			}
-			return applying(x.Language)(rule, args)
+			return states.Operators(x.Language)(rule, args)
 		})
 		if e != api.OK || calls == 0 && len(x.Language.Rules) > 0 {
 			t.Errorf("%s: %d, %d calls", x.Language.Name, e, calls)
@@ -105,7 +97,7 @@ func TestLimits(t *testing.T) {
 		if len(want.States) != x.States || want.Options != x.Options {
 			t.Errorf("case %d: %d states, %d options", i, len(want.States), want.Options)
 		}
-		got, e := states.Of(x.Language, x.Tuples, x.Most, applying(x.Language))
+		got, e := states.Of(x.Language, x.Tuples, x.Most, states.Operators(x.Language))
 		if !want.IsWithinLimits() && (e != api.ErrLimit || len(got) > 0) {
 			t.Errorf("case %d: %d states, %d", i, len(got), e)
 		}
@@ -122,17 +114,17 @@ func TestVeryManyChoices(t *testing.T) {
 	vain.Symbols = append(vain.Symbols, api.Symbol{Name: "E", Type: api.Text})
 	vain.Rules = append(vain.Rules, statetest.Op(3, "replace", 3, 3, 4))
 	many.Rules = append(many.Rules, statetest.Op(3, "replace", 3, 3, 3), statetest.Op(2, "replace", 3, 3, 3))
-	want, e := states.Of(plain, one, api.MaxSize, applying(plain))
+	want, e := states.Of(plain, one, api.MaxSize, states.Operators(plain))
 	if e != api.OK || len(want) != api.MaxNodes {
 		t.Fatal(len(want), e)
 	}
-	if got, e := states.Of(vain, one, api.MaxSize, applying(vain)); e != api.OK || !spacetest.Equal(asSpace(got), asSpace(want)) {
+	if got, e := states.Of(vain, one, api.MaxSize, states.Operators(vain)); e != api.OK || !spacetest.Equal(asSpace(got), asSpace(want)) {
 		t.Error(len(got), e)
 	}
-	if got, e := states.Of(many, one, 9, applying(many)); e != api.OK || !spacetest.Equal(asSpace(got), asSpace(want)) {
+	if got, e := states.Of(many, one, 9, states.Operators(many)); e != api.OK || !spacetest.Equal(asSpace(got), asSpace(want)) {
 		t.Error(len(got), e)
 	}
-	if got, e := states.Of(many, one, 10, applying(many)); e != api.ErrLimit || len(got) > 0 {
+	if got, e := states.Of(many, one, 10, states.Operators(many)); e != api.ErrLimit || len(got) > 0 {
 		t.Error(len(got), e)
 	}
 }
@@ -149,6 +141,44 @@ func TestRequired(t *testing.T) {
 	if tuples, key := states.Required(nil); len(tuples) > 0 || key != "" {
 		t.Error(tuples, key)
 	}
+	if key := states.KeyOf([]api.Value{value.OfText("a"), value.OfBits(1)}); key != "\"a\"\n0x01\n" || states.KeyOf(nil) != "" {
+		t.Error(key)
+	}
+}
+
+// The rows of terms from those of their arguments, which are undefined where one of these is.
+func TestRows(t *testing.T) {
+	for _, x := range statetest.Own() {
+		common := 0
+		rows, known := states.RowsOf(x.Language, x.Tuples, states.Operators(x.Language)), map[string]states.Row{}
+		for symbol := range x.Language.Symbols {
+			for _, y := range statetest.OracleOf(x.Language).UpTo(symbol, 5) {
+				row := rowOf(rows, y)
+				if key := statetest.Key(x.Language, y, x.Tuples); row.Key != key || eval.Key(row.Outcomes) != key {
+					t.Fatalf("%s: %v has the row %v, not %q", x.Language.Name, y, row, key)
+				}
+				// Terms with the same outcomes share them.
+				if first, isKnown := known[row.Key]; isKnown && len(x.Tuples) > 0 {
+					if common++; &first.Outcomes[0] != &row.Outcomes[0] {
+						t.Fatalf("%s: %v has a row of its own", x.Language.Name, y)
+					}
+				}
+				known[row.Key] = row
+			}
+		}
+		if common == 0 && len(x.Language.Rules) > 0 {
+			t.Errorf("%s: no common rows", x.Language.Name)
+		}
+	}
+}
+
+// rowOf returns the row of a term.
+func rowOf(rows states.Rows, t api.Term) states.Row {
+	var args []states.Row
+	for _, arg := range t.Args {
+		args = append(args, rowOf(rows, arg))
+	}
+	return rows.Of(t.Rule, args)
 }
 
 // Errors of a language come first, then those of tuples, then that of the bound.
